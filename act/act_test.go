@@ -15,7 +15,7 @@ import (
 	"semblance/eval"
 	"semblance/expr"
 	"semblance/names"
-	"semblance/scan"
+	"semblance/reading"
 	"semblance/term"
 )
 
@@ -126,37 +126,16 @@ func checkPut(t *testing.T, l []api.Act, want string, fault api.Errno) {
 	}
 }
 
-// scanned is the tokens of a text, the end behind them.
-func scanned(t *testing.T, s string) []api.Token {
-	t.Helper()
-	l, at, e := scan.Tokens(s)
-	if e != api.OK {
-		t.Fatalf("Tokens(%q): at %v, error %d", s, at, e)
-	}
-	return l
-}
-
 // checkRead: Read of tokens is that; then that token is next, and there is no fault.
 func checkRead(t *testing.T, l []api.Token, want []api.Act, next api.Token) {
 	t.Helper()
-	c := cursor.New(l)
-	got := act.Read(c)
-	if at, e := c.Fault(); e != api.OK || !sameActs(got, want) {
-		t.Errorf("Read of %v: %v, fault %d at %v, not %v", l, got, e, at, want)
-	}
-	if c.Next() != next {
-		t.Errorf("Read of %v: then %v, not %v", l, c.Next(), next)
-	}
+	reading.Check(t, l, act.Read, sameActs, want, next)
 }
 
 // checkFault: Read of tokens is nothing, and that fault.
 func checkFault(t *testing.T, l []api.Token, want api.Pos, fault api.Errno) {
 	t.Helper()
-	c := cursor.New(l)
-	got := act.Read(c)
-	if at, e := c.Fault(); len(got) != 0 || at != want || e != fault {
-		t.Errorf("Read of %v: %v, fault %d at %v, not fault %d at %v", l, got, e, at, fault, want)
-	}
+	reading.CheckFault(t, l, act.Read, sameActs, want, fault)
 }
 
 // nots is so many not ahead of x: one deeper than so many.
@@ -202,7 +181,7 @@ func TestTexts(t *testing.T) {
 	} {
 		l := acts(t, c.l)
 		checkPut(t, l, c.text, api.OK)
-		tokens := scanned(t, c.text)
+		tokens := reading.Tokens(t, c.text)
 		checkRead(t, tokens, l, tokens[len(tokens)-1])
 	}
 	checkPut(t, nil, "", api.OK)
@@ -302,7 +281,7 @@ func TestMostActs(t *testing.T) {
 	if e != api.OK {
 		t.Fatalf("Put(%v): error %d", full, e)
 	}
-	l := scanned(t, s)
+	l := reading.Tokens(t, s)
 	checkRead(t, l, full, l[len(l)-1])
 }
 
@@ -334,7 +313,7 @@ func TestFaults(t *testing.T) {
 		{eight + ",", 1, 56, api.ErrFull}, {eight + ", any x", 1, 57, api.ErrFull}, {eight + ", y := 1", 1, 57, api.ErrFull}, {eight + ", or", 1, 57, api.ErrFull}, {eight + ", ;", 1, 57, api.ErrFull}, {eight + ",,", 1, 56, api.ErrFull}, {eight + ", 1000001", 1, 57, api.ErrFull}, {eight + ",\n:=", 2, 1, api.ErrFull}, {eight + strings.Repeat(", any x", 1000), 1, 57, api.ErrFull}, {strings.Repeat("x := 1, ", 8) + "x := 1", 1, 65, api.ErrFull}, {strings.Repeat("x := 1, ", 8) + "x := 1000001", 1, 65, api.ErrFull},
 		{strings.Repeat("any x, ", 7) + "any or, any x", 1, 54, api.ErrText}, {strings.Repeat("any x, ", 7) + "x := 1000001, any x", 1, 55, api.ErrRange}, {strings.Repeat("any x, ", 7), 1, 50, api.ErrText}, {strings.Repeat("any x, ", 7) + ", any x", 1, 50, api.ErrText},
 	} {
-		checkFault(t, scanned(t, c.s), api.Pos{Line: c.line, Col: c.col}, c.e)
+		checkFault(t, reading.Tokens(t, c.s), api.Pos{Line: c.line, Col: c.col}, c.e)
 	}
 }
 
@@ -350,11 +329,11 @@ func TestWhatStandsBehind(t *testing.T) {
 		{"x := min(1, 2), any y;", "x := min(1, 2); any y", 11}, {"any x, y := x * 2 ]", "any x; y := x * 2", 8}, {"any x, any y, any z; any w", "any x; any y; any z", 8},
 		{eight + " any x", strings.ReplaceAll(eight, ",", ";"), 23}, {eight + ";", strings.ReplaceAll(eight, ",", ";"), 23}, {eight + " -> x", strings.ReplaceAll(eight, ",", ";"), 23},
 	} {
-		l := scanned(t, c.s)
+		l := reading.Tokens(t, c.s)
 		checkRead(t, l, acts(t, c.l), l[c.read])
 	}
 	// Acts behind others, by the same cursor.
-	c := cursor.New(scanned(t, "any x, x := 1 any y y := 2; any z"))
+	c := cursor.New(reading.Tokens(t, "any x, x := 1 any y y := 2; any z"))
 	for _, want := range []string{"any x; x := 1", "any y", "y := 2"} {
 		if got := act.Read(c); !sameActs(got, acts(t, want)) {
 			t.Errorf("Read: %v, not %s", got, want)
@@ -370,7 +349,7 @@ func TestWhatStandsBehind(t *testing.T) {
 
 // Ac1: a cursor with a fault already keeps it; at the end there is ErrText; nobody's has its own.
 func TestCursors(t *testing.T) {
-	c := cursor.New(scanned(t, "any y; any x"))
+	c := cursor.New(reading.Tokens(t, "any y; any x"))
 	act.Read(c)
 	c.Want(api.TokMark, ";")
 	c.Fail(api.ErrLoop)
@@ -383,7 +362,7 @@ func TestCursors(t *testing.T) {
 	checkFault(t, nil, api.Pos{}, api.ErrText)
 	checkFault(t, []api.Token{{Kind: api.TokEnd, At: api.Pos{Line: 3, Col: 4}}}, api.Pos{Line: 3, Col: 4}, api.ErrText)
 	// Behind the last token stands an end of its place, of a list without one too.
-	bare := scanned(t, "any x, any")
+	bare := reading.Tokens(t, "any x, any")
 	checkFault(t, bare[:4], bare[3].At, api.ErrText)
 	checkFault(t, bare[:3], bare[2].At, api.ErrText)
 	checkRead(t, bare[:2], anys(1), api.Token{At: bare[1].At})
@@ -396,33 +375,6 @@ func TestCursors(t *testing.T) {
 			t.Errorf("Read of nobody's: fault %d at %v", e, at)
 		}
 	}
-}
-
-// small is a token that tests put together; a word with a ! ahead is of a kind that it is not of: a mark a name, a name a mark.
-func small(word string) api.Token {
-	bare, other := strings.CutPrefix(word, "!")
-	kind := api.TokMark
-	switch {
-	case bare == "":
-		kind = api.TokEnd
-	case bare[0] >= 'a' && bare[0] <= 'z':
-		kind = api.TokName
-	case bare[0] >= '0' && bare[0] <= '9':
-		kind = api.TokNum
-	}
-	if other {
-		kind = map[int]int{api.TokMark: api.TokName, api.TokName: api.TokMark, api.TokNum: api.TokName}[kind]
-	}
-	return api.Token{Kind: kind, Text: bare}
-}
-
-// placed is tokens, the end behind them, each at a place of its own.
-func placed(l []api.Token) []api.Token {
-	l = append(slices.Clone(l), api.Token{Kind: api.TokEnd})
-	for at := range l {
-		l[at].At = api.Pos{Line: at + 1, Col: 7}
-	}
-	return l
 }
 
 // outcome is what acts' tokens are by another reading: the acts, the place of the token behind them; else a fault, and the place of its token.
@@ -480,26 +432,16 @@ func another(l []api.Token) outcome {
 
 // every calls with each list of at most so many out of some.
 func every[T any](most int, of []T, do func(l []T)) {
-	var l []T
-	var more func()
-	more = func() {
+	reading.Every(most, of, func(l []T) bool {
 		do(l)
-		if len(l) == most {
-			return
-		}
-		for _, one := range of {
-			l = append(l, one)
-			more()
-			l = l[:len(l)-1]
-		}
-	}
-	more()
+		return true
+	})
 }
 
 // checkTokens: Read of tokens is what the other reading says.
 func checkTokens(t *testing.T, l []api.Token) outcome {
 	t.Helper()
-	l = placed(l)
+	l = reading.Placed(l)
 	want := another(l)
 	if want.e != api.OK {
 		checkFault(t, l, l[want.at].At, want.e)
@@ -519,11 +461,7 @@ func TestAllSmallTokens(t *testing.T) {
 	}{
 		{4, "any x on := , 1 + ; !any !x !:= !, !1 !"}, {6, "any x := , 1 +"}, {8, "any x ,"}, {8, "x := ,"},
 	} {
-		var of []api.Token
-		for _, word := range strings.Fields(c.words) {
-			of = append(of, small(word))
-		}
-		every(c.most, of, check)
+		every(c.most, reading.Words(c.words), check)
 	}
 	for _, e := range []api.Errno{api.OK, api.ErrText} {
 		if told[e] < 1000 {
@@ -540,7 +478,7 @@ func TestOneTokenOff(t *testing.T) {
 		"any a, any b, any c, any d, any e, any f, any g, any h", "a := 1, b := 2, c := 3, d := 4, any e, f := a + b, any g, h := 1 + 2",
 		"any a, any b, any c, any d, any e, any f, any g, any h, any i", "any a, b := 1, any a, b := 1, any a, b := 1, any a, b := 1, a := 1 + 2, any b",
 	} {
-		whole := scanned(t, s)
+		whole := reading.Tokens(t, s)
 		whole = whole[:len(whole)-1]
 		told[checkTokens(t, whole).e]++
 		for at := range whole {
@@ -555,9 +493,9 @@ func TestOneTokenOff(t *testing.T) {
 				l[at].Kind = kind
 				told[checkTokens(t, l).e]++
 			}
-			for _, word := range strings.Fields("any x on := , 1 + ; = -> ) ! !any !x !:= !, !1") {
-				told[checkTokens(t, slices.Concat(whole[:at], []api.Token{small(word)}, whole[at+1:])).e]++
-				told[checkTokens(t, slices.Concat(whole[:at], []api.Token{small(word)}, whole[at:])).e]++
+			for _, other := range reading.Words("any x on := , 1 + ; = -> ) ! !any !x !:= !, !1") {
+				told[checkTokens(t, slices.Concat(whole[:at], []api.Token{other}, whole[at+1:])).e]++
+				told[checkTokens(t, slices.Concat(whole[:at], []api.Token{other}, whole[at:])).e]++
 			}
 		}
 	}
@@ -949,7 +887,7 @@ func TestPutIsRead(t *testing.T) {
 			t.Fatalf("Put(%v): error %d", l, e)
 		}
 		if len(l) > 0 {
-			tokens := scanned(t, s+" ;")
+			tokens := reading.Tokens(t, s+" ;")
 			checkRead(t, tokens, l, tokens[len(tokens)-2])
 		}
 	}
@@ -1023,7 +961,7 @@ func TestHandedIn(t *testing.T) {
 
 // R3: what Read answers is new: written to, it changes no token, no other act, and no later answer.
 func TestReadIsNew(t *testing.T) {
-	tokens := scanned(t, "x := a + b, any y, z := a + b, any x")
+	tokens := reading.Tokens(t, "x := a + b, any y, z := a + b, any x")
 	was, want := slices.Clone(tokens), acts(t, "x := a + b; any y; z := a + b; any x")
 	got := act.Read(cursor.New(tokens))
 	if !sameActs(got, want) {

@@ -9,23 +9,13 @@ import (
 	"semblance/api"
 	"semblance/cursor"
 	"semblance/names"
-	"semblance/scan"
+	"semblance/reading"
 	"semblance/val"
 )
 
 // tok is a token at a line, and a byte in it.
 func tok(kind int, text string, line, col int) api.Token {
 	return api.Token{Kind: kind, Text: text, At: api.Pos{Line: line, Col: col}}
-}
-
-// read is the tokens of a text, the end behind them.
-func read(t *testing.T, s string) []api.Token {
-	t.Helper()
-	l, at, e := scan.Tokens(s)
-	if e != api.OK {
-		t.Fatalf("Tokens(%q): at %v, error %d", s, at, e)
-	}
-	return l
 }
 
 // checkGood: there is no fault, and that token is next.
@@ -82,7 +72,7 @@ func checkMute(t *testing.T, c *cursor.Cursor) {
 
 // Cr1, Cr2, Cr3: the document's example.
 func TestExample(t *testing.T) {
-	c := cursor.New(read(t, "a 1"))
+	c := cursor.New(reading.Tokens(t, "a 1"))
 	if got := c.Name(); got != "a" {
 		t.Errorf("Name: %q", got)
 	}
@@ -94,7 +84,7 @@ func TestExample(t *testing.T) {
 
 // Cr1: Next tells the token that is next, and goes past none, however often it is asked; so does Is.
 func TestNext(t *testing.T) {
-	l := read(t, "a 1 -> or\n b2")
+	l := reading.Tokens(t, "a 1 -> or\n b2")
 	c := cursor.New(l)
 	for i, want := range l {
 		for range 3 {
@@ -145,7 +135,7 @@ func TestIs(t *testing.T) {
 
 // Cr1, Cr2: a chart's text, gone through by each of the calls.
 func TestChart(t *testing.T) {
-	c := cursor.New(read(t, "chart door { event go;\n  var n 0 .. 1000 = 7; leaf a; }"))
+	c := cursor.New(reading.Tokens(t, "chart door { event go;\n  var n 0 .. 1000 = 7; leaf a; }"))
 	said := func(got, want string) {
 		t.Helper()
 		if got != want {
@@ -364,7 +354,7 @@ func TestNumber(t *testing.T) {
 
 // Cr3: Fail tells whatever error at the next token; OK is none, and changes nothing.
 func TestFail(t *testing.T) {
-	l := read(t, "a 1\n ;")
+	l := reading.Tokens(t, "a 1\n ;")
 	for n, want := range l {
 		for e := api.Errno(-2); e < 20; e++ {
 			c := cursor.New(l)
@@ -401,7 +391,7 @@ func TestFirstFault(t *testing.T) {
 	}
 	for _, first := range fails {
 		for _, second := range fails {
-			c := cursor.New(read(t, "a\n 7 ;"))
+			c := cursor.New(reading.Tokens(t, "a\n 7 ;"))
 			c.Want(api.TokName, "a")
 			first.do(c)
 			second.do(c)
@@ -414,7 +404,7 @@ func TestFirstFault(t *testing.T) {
 func TestNobodys(t *testing.T) {
 	var none *cursor.Cursor
 	var zero cursor.Cursor
-	emptied := cursor.New(read(t, "a 1"))
+	emptied := cursor.New(reading.Tokens(t, "a 1"))
 	*emptied = cursor.Cursor{}
 	for _, c := range []*cursor.Cursor{none, &zero, new(cursor.Cursor), {}, emptied} {
 		checkFault(t, c, 0, 0, api.ErrState)
@@ -451,7 +441,7 @@ func TestOfNoTokens(t *testing.T) {
 
 // R3: what New was handed is not written to, also behind its end, and not kept; two cursors do not know of one another.
 func TestHandedIn(t *testing.T) {
-	back := append(read(t, "a 1 ; b"), tok(9, "spare", 9, 9), tok(9, "spare", 9, 9))
+	back := append(reading.Tokens(t, "a 1 ; b"), tok(9, "spare", 9, 9), tok(9, "spare", 9, 9))
 	was := slices.Clone(back)
 	l := back[:5]
 	c, other := cursor.New(l), cursor.New(l)
@@ -482,7 +472,7 @@ func TestHandedIn(t *testing.T) {
 
 // Cr1: as many tokens as a text may have, and more.
 func TestManyTokens(t *testing.T) {
-	l := read(t, strings.Repeat("a\n", api.MaxTokens))
+	l := reading.Tokens(t, strings.Repeat("a\n", api.MaxTokens))
 	for len(l) < 1<<17 {
 		l = append(l, l...)
 	}

@@ -11,7 +11,7 @@ import (
 	"semblance/cursor"
 	"semblance/expr"
 	"semblance/names"
-	"semblance/scan"
+	"semblance/reading"
 	"semblance/term"
 )
 
@@ -40,37 +40,16 @@ func terms(s string) []api.Term {
 	return l
 }
 
-// scanned is the tokens of a text, the end behind them.
-func scanned(t *testing.T, s string) []api.Token {
-	t.Helper()
-	l, at, e := scan.Tokens(s)
-	if e != api.OK {
-		t.Fatalf("Tokens(%q): at %v, error %d", s, at, e)
-	}
-	return l
-}
-
 // checkRead: Read of tokens is that; then that token is next, and there is no fault.
 func checkRead(t *testing.T, l []api.Token, want []api.Term, next api.Token) {
 	t.Helper()
-	c := cursor.New(l)
-	got := expr.Read(c)
-	if at, e := c.Fault(); e != api.OK || !slices.Equal(got, want) {
-		t.Errorf("Read of %v: %v, fault %d at %v, not %v", l, got, e, at, want)
-	}
-	if c.Next() != next {
-		t.Errorf("Read of %v: then %v, not %v", l, c.Next(), next)
-	}
+	reading.Check(t, l, expr.Read, slices.Equal, want, next)
 }
 
 // checkFault: Read of tokens is nothing, and that fault.
 func checkFault(t *testing.T, l []api.Token, want api.Pos, fault api.Errno) {
 	t.Helper()
-	c := cursor.New(l)
-	got := expr.Read(c)
-	if at, e := c.Fault(); len(got) != 0 || at != want || e != fault {
-		t.Errorf("Read of %v: %v, fault %d at %v, not fault %d at %v", l, got, e, at, fault, want)
-	}
+	reading.CheckFault(t, l, expr.Read, slices.Equal, want, fault)
 }
 
 // checkParse: Parse of a text is that.
@@ -167,7 +146,7 @@ func TestTexts(t *testing.T) {
 		checkParse(t, c.s, want, api.OK)
 		checkPut(t, want, c.text, api.OK)
 		checkParse(t, c.text, want, api.OK)
-		l := scanned(t, c.s)
+		l := reading.Tokens(t, c.s)
 		checkRead(t, l, want, l[len(l)-1])
 	}
 }
@@ -280,7 +259,7 @@ func TestFaults(t *testing.T) {
 		// Numbers.
 		{"1000001", 1, 1, api.ErrRange}, {"999999999", 1, 1, api.ErrRange}, {"-1000001", 1, 2, api.ErrRange}, {"a + 1000001 +", 1, 5, api.ErrRange}, {"min(1000001", 1, 5, api.ErrRange}, {"00", 1, 1, api.ErrText}, {"007", 1, 1, api.ErrText}, {"a < 01", 1, 5, api.ErrText}, {"00 + 1000001", 1, 1, api.ErrText}, {"1000001 + 00", 1, 1, api.ErrRange}, {"01000001", 1, 1, api.ErrText},
 	} {
-		checkFault(t, scanned(t, c.s), api.Pos{Line: c.line, Col: c.col}, c.e)
+		checkFault(t, reading.Tokens(t, c.s), api.Pos{Line: c.line, Col: c.col}, c.e)
 		checkParse(t, c.s, nil, c.e)
 	}
 }
@@ -296,12 +275,12 @@ func TestWhatStandsBehind(t *testing.T) {
 		{"a < b < c", "< a b", 3}, {"a == b == c", "== a b", 3}, {"a < b >= c", "< a b", 3}, {"a + b < c * d == e", "< + a b * c d", 7}, {"not a < b < c", "not < a b", 4}, {"a and b < c < d", "and a < b c", 5}, {"a or not b == c != d", "or a not == b c", 6}, {"(a < b) < c < d", "< < a b c", 7},
 		{"a < b not", "< a b", 3}, {"in(a) in(b)", "@a", 4}, {"min(a, b) c", "min a b", 6}, {"-a b", "neg a", 2}, {"not a not b", "not a", 2}, {"a (", "a", 1}, {"a 1000001", "a", 1}, {"a 00", "a", 1},
 	} {
-		l := scanned(t, c.s)
+		l := reading.Tokens(t, c.s)
 		checkRead(t, l, terms(c.l), l[c.read])
 		checkParse(t, c.s, nil, api.ErrText)
 	}
 	// One expression behind the other, by the same cursor.
-	c := cursor.New(scanned(t, "a + b c < 2 (not d) )"))
+	c := cursor.New(reading.Tokens(t, "a + b c < 2 (not d) )"))
 	for _, want := range []string{"+ a b", "< c 2", "not d"} {
 		if got := expr.Read(c); !slices.Equal(got, terms(want)) {
 			t.Errorf("Read: %v, not %s", got, want)
@@ -462,8 +441,8 @@ func TestLimits(t *testing.T) {
 		{strings.Repeat("(", 1900) + "x" + strings.Repeat(")", 1900), 1, 1, api.OK}, {strings.Repeat("-(", 11) + "x" + strings.Repeat(")", 11), 12, 12, api.OK}, {strings.Repeat("((", 40) + flat(39) + strings.Repeat("))", 40), 39, 6, api.OK},
 	} {
 		for _, behind := range []string{"", " ;", " )", "\n a", " 1000001"} {
-			l := scanned(t, c.s+behind)
-			next := l[len(scanned(t, c.s))-1]
+			l := reading.Tokens(t, c.s+behind)
+			next := l[len(reading.Tokens(t, c.s))-1]
 			if tree, o := another(l); o.e != api.OK || tree.size() != c.size || tree.depth() != c.depth {
 				t.Fatalf("the test's own text %q is of %d terms, and %d deep", c.s, tree.size(), tree.depth())
 			}
@@ -487,7 +466,7 @@ func TestLimits(t *testing.T) {
 func TestFirstFault(t *testing.T) {
 	for _, s := range []string{"", "x + ", strings.Repeat("-", 20), strings.Repeat("not ", 60), strings.Repeat("x + ", 60), strings.Repeat("min(x, ", 60), strings.Repeat("(", 60) + chain(61) + " * "} {
 		for fault, e := range map[string]api.Errno{"": api.ErrText, ")": api.ErrText, "or": api.ErrText, "chart": api.ErrText, "00": api.ErrText, "1000001": api.ErrRange, "* x": api.ErrText, "in(1)": api.ErrText, "min(x": api.ErrText, "(x": api.ErrText, "max(x)": api.ErrText, "1000001 00": api.ErrRange} {
-			l := scanned(t, s+fault)
+			l := reading.Tokens(t, s+fault)
 			_, o := another(l)
 			if o.e != e {
 				t.Fatalf("the test's own text %q has fault %d", s+fault, o.e)
@@ -501,9 +480,9 @@ func TestFirstFault(t *testing.T) {
 // Ex1: of a cursor that has a fault, and of nobody's, there is nothing to read; the fault stays.
 func TestFaultIsThere(t *testing.T) {
 	for _, e := range []api.Errno{api.ErrArg, api.ErrText, api.ErrFull, api.ErrDeep, api.ErrState, -1, 99} {
-		for past, want := range scanned(t, "a + 1") {
-			c := cursor.New(scanned(t, "a + 1"))
-			for _, one := range scanned(t, "a + 1")[:past] {
+		for past, want := range reading.Tokens(t, "a + 1") {
+			c := cursor.New(reading.Tokens(t, "a + 1"))
+			for _, one := range reading.Tokens(t, "a + 1")[:past] {
 				c.Want(one.Kind, one.Text)
 			}
 			c.Fail(e)
@@ -522,7 +501,7 @@ func TestFaultIsThere(t *testing.T) {
 		}
 	}
 	// A fault of Read stays at Reads behind it.
-	c := cursor.New(scanned(t, "a + ) b"))
+	c := cursor.New(reading.Tokens(t, "a + ) b"))
 	for range 3 {
 		got := expr.Read(c)
 		if at, e := c.Fault(); len(got) != 0 || e != api.ErrText || at != (api.Pos{Line: 1, Col: 5}) {
@@ -537,7 +516,7 @@ func TestAtTheEnd(t *testing.T) {
 	checkFault(t, []api.Token{}, api.Pos{}, api.ErrText)
 	checkFault(t, []api.Token{{}}, api.Pos{}, api.ErrText)
 	checkFault(t, []api.Token{{At: api.Pos{Line: 3, Col: 4}}}, api.Pos{Line: 3, Col: 4}, api.ErrText)
-	c := cursor.New(scanned(t, "a \n b"))
+	c := cursor.New(reading.Tokens(t, "a \n b"))
 	c.Name()
 	c.Name()
 	c.Want(api.TokEnd, "")
@@ -803,7 +782,7 @@ func checkText(t *testing.T, l []api.Term) {
 	if got, e := expr.Parse(s); e != api.OK || !slices.Equal(got, l) {
 		t.Fatalf("Parse(%q), put of %v: %v, error %d", s, l, got, e)
 	}
-	tokens := scanned(t, s)
+	tokens := reading.Tokens(t, s)
 	tokens = tokens[:len(tokens)-1]
 	if is := same(tokens, l); !is {
 		t.Fatalf("Put(%v): %q, that is another one", l, s)
@@ -1016,7 +995,7 @@ func TestHandedIn(t *testing.T) {
 		}
 	}
 	for _, s := range []string{"a - b - c", "not x < 2 and (a or b)", "min(1, in(open)) )", "a +", strings.Repeat("-", 20) + "x"} {
-		back := append(scanned(t, s), api.Token{Kind: 9}, api.Token{Kind: 9})
+		back := append(reading.Tokens(t, s), api.Token{Kind: 9}, api.Token{Kind: 9})
 		was := slices.Clone(back)
 		first := expr.Read(cursor.New(back[:len(back)-2]))
 		kept := slices.Clone(first)

@@ -11,23 +11,13 @@ import (
 	"semblance/cursor"
 	"semblance/expr"
 	"semblance/names"
-	"semblance/scan"
+	"semblance/reading"
 	"semblance/term"
 	"semblance/trans"
 )
 
 // keywords are all of them, by the document's words.
 const keywords = "chart event var leaf or and enter exit on auto any in min max not true false"
-
-// scanned is the tokens of a text, the end behind them.
-func scanned(t *testing.T, s string) []api.Token {
-	t.Helper()
-	l, at, e := scan.Tokens(s)
-	if e != api.OK {
-		t.Fatalf("Tokens(%q): at %v, error %d", s, at, e)
-	}
-	return l
-}
 
 // parsed is the terms of a text; of an empty one none.
 func parsed(t *testing.T, s string) []api.Term {
@@ -48,12 +38,7 @@ func acts(t *testing.T, s string) []api.Act {
 	if s == "" {
 		return nil
 	}
-	c := cursor.New(scanned(t, s))
-	l := act.Read(c)
-	if c.Want(api.TokEnd, ""); !c.Good() {
-		t.Fatalf("the test's own acts %q are none", s)
-	}
-	return l
+	return reading.Whole(t, s, act.Read)
 }
 
 // parts are a transition's, each as its text, or empty.
@@ -113,35 +98,20 @@ func checkPut(t *testing.T, tr api.Trans, want string, fault api.Errno) {
 // checkRead: Read of tokens is that; then that token is next, and there is no fault.
 func checkRead(t *testing.T, l []api.Token, want api.Trans, next api.Token) {
 	t.Helper()
-	c := cursor.New(l)
-	got := trans.Read(c)
-	if at, e := c.Fault(); e != api.OK || !same(got, want) {
-		t.Errorf("Read of %v: %v, fault %d at %v, not %v", l, got, e, at, want)
-	}
-	if c.Next() != next {
-		t.Errorf("Read of %v: then %v, not %v", l, c.Next(), next)
-	}
+	reading.Check(t, l, trans.Read, same, want, next)
 }
 
 // checkFault: Read of tokens is the zero transition, and that fault.
 func checkFault(t *testing.T, l []api.Token, want api.Pos, fault api.Errno) {
 	t.Helper()
-	c := cursor.New(l)
-	got := trans.Read(c)
-	if at, e := c.Fault(); !same(got, api.Trans{}) || at != want || e != fault {
-		t.Errorf("Read of %v: %v, fault %d at %v, not fault %d at %v", l, got, e, at, fault, want)
-	}
+	reading.CheckFault(t, l, trans.Read, same, want, fault)
 }
 
 // marked is the tokens of a text out of which its @ is taken, and the place at which it stood.
 func marked(t *testing.T, s string) ([]api.Token, api.Pos) {
 	t.Helper()
-	ahead, behind, is := strings.Cut(s, "@")
-	if !is || strings.Contains(behind, "@") {
-		t.Fatalf("the test's own text %q has not one @", s)
-	}
-	line := strings.Count(ahead, "\n")
-	return scanned(t, ahead+behind), api.Pos{Line: line + 1, Col: len(ahead) - strings.LastIndex(ahead, "\n")}
+	text, at := reading.Marked(t, s)
+	return reading.Tokens(t, text), at
 }
 
 // checkFaultAt: of a text without its @ Read is the zero transition, and that fault where the @ stood.
@@ -179,7 +149,7 @@ func TestExample(t *testing.T) {
 		}},
 		Target: "opened",
 	}
-	l := scanned(t, s)
+	l := reading.Tokens(t, s)
 	checkRead(t, l, want, l[len(l)-1])
 	checkPut(t, want, s, api.OK)
 }
@@ -229,7 +199,7 @@ func TestTexts(t *testing.T) {
 		tr := made(t, c.parts)
 		checkPut(t, tr, c.text, api.OK)
 		for _, s := range []string{c.s, c.text} {
-			l := scanned(t, s)
+			l := reading.Tokens(t, s)
 			checkRead(t, l, tr, l[len(l)-1])
 		}
 	}
@@ -258,7 +228,7 @@ func TestPutIsRead(t *testing.T) {
 		tr, s := made(t, p), text(p)
 		checkPut(t, tr, s, api.OK)
 		for _, behind := range []string{"", " ;", " auto -> b;", " }", " [x]"} {
-			l := scanned(t, s+behind)
+			l := reading.Tokens(t, s+behind)
 			semicolon := slices.IndexFunc(l, func(one api.Token) bool { return one.Text == ";" })
 			checkRead(t, l, tr, l[semicolon+1])
 		}
@@ -272,7 +242,7 @@ func TestPutIsRead(t *testing.T) {
 			if e != api.OK {
 				t.Fatalf("Put(%v): error %d", tr, e)
 			}
-			l := scanned(t, s)
+			l := reading.Tokens(t, s)
 			checkRead(t, l, tr, l[len(l)-1])
 		}
 	}
@@ -450,7 +420,7 @@ func TestTooMuch(t *testing.T) {
 		checkFaultAt(t, c.s, c.e)
 	}
 	for _, s := range []string{"auto [" + deep[1:] + "]", "auto [x" + strings.Repeat(" + x", 11) + "]", "auto / " + eight, "on y [" + deep[1:] + "] / " + eight + " -> z"} {
-		l := scanned(t, s+"; ]")
+		l := reading.Tokens(t, s+"; ]")
 		c := cursor.New(l)
 		if tr := trans.Read(c); same(tr, api.Trans{}) || !c.Is(api.TokMark, "]") {
 			t.Errorf("Read of %q: %v, then %v", s, tr, c.Next())
@@ -468,7 +438,7 @@ func TestWhatStandsBehind(t *testing.T) {
 		}
 	}
 	// Transitions behind others, by the same cursor.
-	c := cursor.New(scanned(t, "on a; auto -> b; on c [d] / any e, f := 1 -> g;auto;\n}"))
+	c := cursor.New(reading.Tokens(t, "on a; auto -> b; on c [d] / any e, f := 1 -> g;auto;\n}"))
 	for _, want := range []parts{{"a", "", "", ""}, {"", "", "", "b"}, {"c", "d", "any e, f := 1", "g"}, {}} {
 		if got := trans.Read(c); !same(got, made(t, want)) {
 			t.Errorf("Read: %v, not %v", got, want)
@@ -485,7 +455,7 @@ func TestWhatStandsBehind(t *testing.T) {
 // Tr2, R1: a cursor with a fault already keeps it; at the end there is ErrText; nobody's has its own.
 func TestCursors(t *testing.T) {
 	for _, e := range []api.Errno{api.ErrLoop, api.ErrText, api.ErrArg} {
-		c := cursor.New(scanned(t, "auto; on a [x] / any x -> b;"))
+		c := cursor.New(reading.Tokens(t, "auto; on a [x] / any x -> b;"))
 		trans.Read(c)
 		c.Fail(e)
 		for range 2 {
@@ -500,7 +470,7 @@ func TestCursors(t *testing.T) {
 	checkFault(t, nil, api.Pos{}, api.ErrText)
 	checkFault(t, []api.Token{{Kind: api.TokEnd, At: api.Pos{Line: 3, Col: 4}}}, api.Pos{Line: 3, Col: 4}, api.ErrText)
 	// Behind the last token stands an end of its place, of a list without one too.
-	bare := scanned(t, "on a [x] / any y -> b;")
+	bare := reading.Tokens(t, "on a [x] / any y -> b;")
 	for size := 1; size < len(bare)-1; size++ {
 		checkFault(t, bare[:size], bare[size-1].At, api.ErrText)
 	}
@@ -514,42 +484,6 @@ func TestCursors(t *testing.T) {
 			t.Errorf("Read of nobody's: fault %d at %v", e, at)
 		}
 	}
-}
-
-// small is a token that tests put together; a word with a ! ahead is of a kind that it is not of: a mark a name, a name a mark.
-func small(word string) api.Token {
-	bare, other := strings.CutPrefix(word, "!")
-	kind := api.TokMark
-	switch {
-	case bare == "":
-		kind = api.TokEnd
-	case bare[0] >= 'a' && bare[0] <= 'z':
-		kind = api.TokName
-	case bare[0] >= '0' && bare[0] <= '9':
-		kind = api.TokNum
-	}
-	if other {
-		kind = map[int]int{api.TokMark: api.TokName, api.TokName: api.TokMark, api.TokNum: api.TokName, api.TokEnd: api.TokMark}[kind]
-	}
-	return api.Token{Kind: kind, Text: bare}
-}
-
-// smalls are the tokens of words.
-func smalls(words string) []api.Token {
-	var l []api.Token
-	for word := range strings.FieldsSeq(words) {
-		l = append(l, small(word))
-	}
-	return l
-}
-
-// placed is tokens, the end behind them, each at a place of its own.
-func placed(l []api.Token) []api.Token {
-	l = append(slices.Clone(l), api.Token{Kind: api.TokEnd})
-	for at := range l {
-		l[at].At = api.Pos{Line: at + 1, Col: 7}
-	}
-	return l
 }
 
 // states tells, by the chapters' grammars, for each place in a transition which words may stand there, and which place is behind each: NAME is a name, NUM a number; of expressions there are just sums.
@@ -675,7 +609,7 @@ func tooMuch(state string, next api.Token, tr api.Trans) api.Errno {
 // checkTokens: Read of tokens is what the other reading says.
 func checkTokens(t *testing.T, l []api.Token) outcome {
 	t.Helper()
-	l = placed(l)
+	l = reading.Placed(l)
 	want := another(l)
 	if want.e != api.OK {
 		checkFault(t, l, l[want.at].At, want.e)
@@ -685,40 +619,23 @@ func checkTokens(t *testing.T, l []api.Token) outcome {
 	return want
 }
 
-// every calls with each list of at most so many out of some; what tells false of a list is not asked of a longer one that begins with it.
-func every(most int, of []api.Token, do func(l []api.Token) bool) {
-	var l []api.Token
-	var more func()
-	more = func() {
-		if !do(l) || len(l) == most {
-			return
-		}
-		for _, one := range of {
-			l = append(l, one)
-			more()
-			l = l[:len(l)-1]
-		}
-	}
-	more()
-}
-
 // Tr2: Read of all small lists of tokens, against the other reading.
 func TestAllSmallTokens(t *testing.T) {
 	told := map[api.Errno]int{}
-	every(4, smalls("on auto x leaf [ ] / -> ; , := any + 1 !on !auto !x !; !1"), func(l []api.Token) bool {
+	reading.Every(4, reading.Words("on auto x leaf [ ] / -> ; , := any + 1 !on !auto !x !; !1"), func(l []api.Token) bool {
 		told[checkTokens(t, l).e]++
 		return true
 	})
 	// Longer ones, as long as what is there may become a transition; and with something behind what may not.
-	of, tails := smalls("on auto x leaf [ ] / -> ; , := any + 1 !on !any !+ ![ !] !/ !-> !; !, !:= !x !1 !"), []string{"x ;", "-> x ;", "; on x ;", "] ;", "x := 1 ;"}
-	every(11, of, func(l []api.Token) bool {
+	of, tails := reading.Words("on auto x leaf [ ] / -> ; , := any + 1 !on !any !+ ![ !] !/ !-> !; !, !:= !x !1 !"), []string{"x ;", "-> x ;", "; on x ;", "] ;", "x := 1 ;"}
+	reading.Every(11, of, func(l []api.Token) bool {
 		got := checkTokens(t, l)
 		told[got.e]++
 		if got.e != api.OK && got.at == len(l) {
 			return true
 		}
 		for _, tail := range tails {
-			checkTokens(t, slices.Concat(l, smalls(tail)))
+			checkTokens(t, slices.Concat(l, reading.Words(tail)))
 		}
 		return false
 	})
@@ -740,7 +657,7 @@ func TestOneTokenOff(t *testing.T) {
 		"auto / " + eight + " ;", "on a [ x ] / " + eight + " -> b ;", "on a / " + eight + " , any x -> b ;",
 		"on a [ " + sums(12) + " ] -> b ;", "on a [ " + sums(13) + " ] -> b ;", "on a [ " + sums(20) + " ] ;", "auto [ " + sums(21) + " ] ;", "auto / x := " + sums(12) + " , any x ;", "auto / x := " + sums(13) + " , any x ;", "auto / any x , x := " + sums(21) + " -> b ;",
 	} {
-		whole := smalls(s)
+		whole := reading.Words(s)
 		check(whole)
 		for at := range whole {
 			ahead, one, behind := whole[:at], whole[at:at+1], whole[at+1:]
@@ -750,7 +667,7 @@ func TestOneTokenOff(t *testing.T) {
 			if len(behind) > 0 {
 				check(ahead, behind[:1], one, behind[1:])
 			}
-			for _, other := range smalls("on auto x leaf [ ] / -> ; , := any + 1 ) = !on !any !x !; !1 !") {
+			for _, other := range reading.Words("on auto x leaf [ ] / -> ; , := any + 1 ) = !on !any !x !; !1 !") {
 				check(ahead, []api.Token{other}, behind)
 				check(ahead, []api.Token{other}, one, behind)
 			}
@@ -846,7 +763,7 @@ func TestSame(t *testing.T) {
 		}
 	}
 	// A part that differs in what is read, but not in what it is.
-	read := func(s string) api.Trans { return trans.Read(cursor.New(scanned(t, s))) }
+	read := func(s string) api.Trans { return trans.Read(cursor.New(reading.Tokens(t, s))) }
 	for _, c := range []struct {
 		a, b string
 		want bool
@@ -876,15 +793,15 @@ func TestSame(t *testing.T) {
 // P1: great inputs end, without a panic.
 func TestGreatTexts(t *testing.T) {
 	open, shut := strings.Repeat("(", 1500), strings.Repeat(")", 1500)
-	l := scanned(t, "on a ["+open+"x"+shut+"] / y := "+open[:400]+"1"+shut[:400]+" -> b;")
+	l := reading.Tokens(t, "on a ["+open+"x"+shut+"] / y := "+open[:400]+"1"+shut[:400]+" -> b;")
 	checkRead(t, l, made(t, parts{"a", "x", "y := 1", "b"}), l[len(l)-1])
 	checkFaultAt(t, "auto ["+open+"x@];", api.ErrText)
-	many := slices.Concat(smalls("auto"), slices.Repeat(smalls("["), 1<<16))
-	checkFault(t, placed(many), api.Pos{Line: 3, Col: 7}, api.ErrText)
-	deep := slices.Concat(smalls("auto ["), slices.Repeat(smalls("("), 1<<16-1), smalls("x"), slices.Repeat(smalls(")"), 1<<16-1), smalls("] ;"))
+	many := slices.Concat(reading.Words("auto"), slices.Repeat(reading.Words("["), 1<<16))
+	checkFault(t, reading.Placed(many), api.Pos{Line: 3, Col: 7}, api.ErrText)
+	deep := slices.Concat(reading.Words("auto ["), slices.Repeat(reading.Words("("), 1<<16-1), reading.Words("x"), slices.Repeat(reading.Words(")"), 1<<16-1), reading.Words("] ;"))
 	checkRead(t, deep, api.Trans{Guard: sum(1)}, api.Token{})
-	long := slices.Concat(smalls("auto / x := 1"), slices.Repeat(smalls("+ 1"), 1<<16), smalls(";"))
-	checkFault(t, placed(long), api.Pos{Line: len(long), Col: 7}, api.ErrFull)
+	long := slices.Concat(reading.Words("auto / x := 1"), slices.Repeat(reading.Words("+ 1"), 1<<16), reading.Words(";"))
+	checkFault(t, reading.Placed(long), api.Pos{Line: len(long), Col: 7}, api.ErrFull)
 }
 
 // roomy is a copy of a transition, with room behind each list's end, in which something stands; and what tells whether that is all as it was.
@@ -941,7 +858,7 @@ func TestHandedIn(t *testing.T) {
 
 // R3: what Read answers is new: written to, it changes no token, no other part of it, and no later answer.
 func TestReadIsNew(t *testing.T) {
-	tokens := scanned(t, "on a [a + b] / x := a + b, any y, z := a + b -> b;")
+	tokens := reading.Tokens(t, "on a [a + b] / x := a + b, any y, z := a + b -> b;")
 	was, want := slices.Clone(tokens), made(t, parts{"a", "a + b", "x := a + b, any y, z := a + b", "b"})
 	c := cursor.New(tokens)
 	got := trans.Read(c)

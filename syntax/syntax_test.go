@@ -8,6 +8,7 @@ import (
 
 	"semblance/act"
 	"semblance/api"
+	"semblance/charts"
 	"semblance/cursor"
 	"semblance/reading"
 	"semblance/scan"
@@ -19,62 +20,11 @@ import (
 // keywords are all of them, by the document's words.
 const keywords = "chart event var leaf or and enter exit on auto any in min max not true false"
 
-// door is the document's chart.
-const door = "chart door { event go; var n 0 .. 1 = 0; or house { leaf shut { on go -> open; } leaf open { on go [n < 1] / n := n + 1 -> shut; } } }"
-
-// acts are those of a text; of an empty one none.
-func acts(t *testing.T, s string) []api.Act {
-	t.Helper()
-	if s == "" {
-		return nil
-	}
-	return reading.Whole(t, s, act.Read)
-}
-
-// transitions are those of a text.
-func transitions(t *testing.T, s string) []api.Trans {
-	t.Helper()
-	return reading.Whole(t, s, func(c *cursor.Cursor) []api.Trans {
-		var l []api.Trans
-		for c.Good() && !c.Is(api.TokEnd, "") {
-			l = append(l, trans.Read(c))
-		}
-		return l
-	})
-}
-
-// leaf, or and and are states without anything within, right below the one at a place.
-func leaf(name string, parent int) api.State {
-	return api.State{Name: name, Kind: api.KdLeaf, Parent: parent}
-}
-func or(name string, parent int) api.State {
-	return api.State{Name: name, Kind: api.KdOr, Parent: parent}
-}
-func and(name string, parent int) api.State {
-	return api.State{Name: name, Kind: api.KdAnd, Parent: parent}
-}
-
-// having is a state, with the acts and transitions of texts.
-func having(t *testing.T, s api.State, enter, exit, own string) api.State {
-	t.Helper()
-	s.Enter, s.Exit, s.Trans = acts(t, enter), acts(t, exit), transitions(t, own)
-	return s
-}
-
-// sameActs tells whether acts are the same.
-func sameActs(a, b []api.Act) bool {
-	return trans.Same(api.Trans{Acts: a}, api.Trans{Acts: b})
-}
-
-// sameState tells whether states are the same; no list is the same as an empty one.
-func sameState(a, b api.State) bool {
-	return a.Name == b.Name && a.Kind == b.Kind && a.Parent == b.Parent && sameActs(a.Enter, b.Enter) && sameActs(a.Exit, b.Exit) && slices.EqualFunc(a.Trans, b.Trans, trans.Same)
-}
-
-// same tells whether charts are the same; no list is the same as an empty one.
-func same(a, b api.Chart) bool {
-	return a.Name == b.Name && slices.Equal(a.Events, b.Events) && slices.Equal(a.Vars, b.Vars) && slices.EqualFunc(a.States, b.States, sameState)
-}
+// What the tests of charts have in common, by short names.
+var (
+	leaf, or, and, having = charts.Leaf, charts.Or, charts.And, charts.Having
+	same, sameState       = charts.Same, charts.SameState
+)
 
 // checkRead: Read of tokens is that; then that token is next, and there is no fault.
 func checkRead(t *testing.T, l []api.Token, want api.Chart, next api.Token) {
@@ -168,36 +118,16 @@ func writtenState(t *testing.T, c api.Chart, at int, braces bool) string {
 	return s + " { " + within + "} "
 }
 
-// doorChart is the document's chart, put together by hand.
-func doorChart() api.Chart {
-	n := api.Term{Op: api.TmVar, Name: "n"}
-	return api.Chart{
-		Name:   "door",
-		Events: []string{"go"},
-		Vars:   []api.Var{{Name: "n", Lo: 0, Hi: 1, Init: 0}},
-		States: []api.State{
-			{Name: "house", Kind: api.KdOr, Parent: -1},
-			{Name: "shut", Kind: api.KdLeaf, Parent: 0, Trans: []api.Trans{{Event: "go", Target: "open"}}},
-			{Name: "open", Kind: api.KdLeaf, Parent: 0, Trans: []api.Trans{{
-				Event:  "go",
-				Guard:  []api.Term{{Op: api.TmLt}, n, {Op: api.TmNum, N: 1}},
-				Acts:   []api.Act{{Name: "n", Expr: []api.Term{{Op: api.TmAdd}, n, {Op: api.TmNum, N: 1}}}},
-				Target: "shut",
-			}}},
-		},
-	}
-}
-
 // Sy1, Sy2: the chapter's example, and the document's chart: whole, without its last brace, and with an event told twice.
 func TestExample(t *testing.T) {
 	checkParse(t, "chart c { leaf a; }", api.Chart{Name: "c", States: []api.State{{Name: "a", Kind: api.KdLeaf, Parent: -1}}})
-	checkParse(t, door, doorChart())
-	cut := strings.TrimSuffix(door, " }")
+	checkParse(t, charts.Door, charts.DoorChart())
+	cut := strings.TrimSuffix(charts.Door, " }")
 	checkFaultAt(t, cut+"@", api.ErrText)
 	checkFaultAt(t, cut+" @", api.ErrText)
-	twice := doorChart()
+	twice := charts.DoorChart()
 	twice.Events = []string{"go", "go"}
-	checkParse(t, strings.Replace(door, "event go", "event go, go", 1), twice)
+	checkParse(t, strings.Replace(charts.Door, "event go", "event go, go", 1), twice)
 }
 
 // Sy1, Sy2: charts with and without events and variables.
@@ -271,55 +201,10 @@ func TestStates(t *testing.T) {
 	}
 }
 
-// choices are the texts of acts, and of transitions, that combinations take.
-func choices() (acts, own []string) {
-	return []string{"", "any x", "x := x + 1, any y, z := a or b"}, []string{"", "auto;", "on a [x < 1] / any x, y := 2 -> b; on c; auto -> d;"}
-}
-
-// below are states, of which some stand within others: their Parents are places in the list; -1 is around.
-func below() [][]api.State {
-	return [][]api.State{nil, {leaf("b", -1)}, {or("b", -1)}, {leaf("b", -1), and("c", -1)}, {or("b", -1), leaf("c", 0), leaf("d", -1)}}
-}
-
-// combinations are charts in which each state is told in every combination that the grammar has, alone and between others.
-func combinations(t *testing.T) []api.Chart {
-	t.Helper()
-	var charts []api.Chart
-	some, own := choices()
-	for kind := api.KdLeaf; kind <= api.KdAnd; kind++ {
-		for which := range len(some) * len(some) * len(own) {
-			one := having(t, api.State{Name: "a", Kind: kind, Parent: -1}, some[which%3], some[which/3%3], own[which/9])
-			for _, within := range below() {
-				if kind == api.KdLeaf && len(within) > 0 {
-					continue
-				}
-				charts = append(charts, api.Chart{Name: "c", States: put(nil, one, within)})
-				around := []api.State{having(t, or("top", -1), some[1], "", own[1]), having(t, leaf("first", 0), "", some[1], "")}
-				states := put(around, one, within)
-				charts = append(charts, api.Chart{Name: "c", Events: []string{"a", "b"}, Vars: []api.Var{{Name: "x", Lo: -1, Hi: 1}}, States: append(states, having(t, and("last", 0), "", "", own[2]))})
-			}
-		}
-	}
-	return charts
-}
-
-// put is states, one behind them right within the first of them, and others within that.
-func put(ahead []api.State, one api.State, within []api.State) []api.State {
-	l := slices.Clone(ahead)
-	at := len(l)
-	one.Parent = min(at, 1) - 1
-	l = append(l, one)
-	for _, other := range within {
-		other.Parent += at + 1
-		l = append(l, other)
-	}
-	return l
-}
-
 // Sy1, Sy2: all combinations of what may stand within a state.
 func TestCombinations(t *testing.T) {
-	charts := combinations(t)
-	for _, c := range charts {
+	all := charts.Combinations(t)
+	for _, c := range all {
 		for _, braces := range []bool{false, true} {
 			s := written(t, c, braces)
 			checkParse(t, s, c)
@@ -328,31 +213,16 @@ func TestCombinations(t *testing.T) {
 			checkRead(t, l, c, l[len(l)-2])
 		}
 	}
-	if len(charts) != 2*27*(1+2*len(below())) {
-		t.Errorf("%d charts", len(charts))
+	if len(all) != 2*27*(1+2*len(charts.Belows())) {
+		t.Errorf("%d charts", len(all))
 	}
-}
-
-// shapes are all lists of so many Parents by which states may stand.
-func shapes(many int) [][]int {
-	if many == 1 {
-		return [][]int{{-1}}
-	}
-	var all [][]int
-	for _, l := range shapes(many - 1) {
-		// A state stands below the one right ahead, or below one above that.
-		for parent := many - 2; parent >= 0; parent = l[parent] {
-			all = append(all, append(slices.Clone(l), parent))
-		}
-	}
-	return all
 }
 
 // Sy1, Sy2: all small lists of states that may stand so, of all kinds.
 func TestShapes(t *testing.T) {
 	asked := 0
 	for many := 1; many <= 6; many++ {
-		for _, parents := range shapes(many) {
+		for _, parents := range charts.Shapes(many) {
 			for kinds := range 1 << (2 * many) {
 				states := make([]api.State, many)
 				for at, parent := range parents {
@@ -384,38 +254,12 @@ func nested(depths []int) string {
 	return "chart c { " + s + strings.Repeat("} ", open) + "}"
 }
 
-// nestedStates are the states of nested.
-func nestedStates(depths []int) []api.State {
-	var l []api.State
-	for at, deep := range depths {
-		// The one right around is the last one ahead that stands one less deep.
-		parent := at - 1
-		for parent >= 0 && depths[parent] != deep-1 {
-			parent--
-		}
-		l = append(l, or("s"+strconv.Itoa(at), parent))
-	}
-	return l
-}
-
-// someDepths are so many depths, 12 at most, that begin with 1; which ones is told by a number.
-func someDepths(many, seed int) []int {
-	l := []int{1}
-	for len(l) < many {
-		seed = (seed*1103515245 + 12345) & 0x7fffffff
-		last := l[len(l)-1]
-		deep := min(2+seed>>16%12, last+1, 12)
-		l = append(l, deep)
-	}
-	return l
-}
-
 // Sy1, Sy2: states of each number up to MaxStates, in some orders each, and one more, how deep it ever is.
 func TestManyStates(t *testing.T) {
 	for many := 1; many <= 60; many++ {
 		for seed := range 6 {
-			depths := someDepths(many, 1000*many+seed)
-			c := api.Chart{Name: "c", States: nestedStates(depths)}
+			depths := charts.Depths(many, 1000*many+seed)
+			c := api.Chart{Name: "c", States: charts.Nested(depths)}
 			checkParse(t, nested(depths), c)
 			if e := shape.Check(c.States); e != api.OK {
 				t.Errorf("the test's own states of %v may not stand so", depths)
@@ -429,7 +273,7 @@ func TestManyStates(t *testing.T) {
 				case deep == 13:
 					checkFaultAt(t, strings.Replace(s, name, "@"+name, 1), api.ErrDeep)
 				default:
-					checkParse(t, s, api.Chart{Name: "c", States: nestedStates(append(slices.Clone(depths), deep))})
+					checkParse(t, s, api.Chart{Name: "c", States: charts.Nested(append(slices.Clone(depths), deep))})
 				}
 			}
 		}
@@ -696,7 +540,7 @@ func TestScanFaults(t *testing.T) {
 
 // Sy2: what stands behind the chart is ErrText at it; Read leaves it.
 func TestWhatStandsBehind(t *testing.T) {
-	for _, s := range []string{"chart c { leaf a; }", door} {
+	for _, s := range []string{"chart c { leaf a; }", charts.Door} {
 		want, _, _ := syntax.Parse(s)
 		for _, behind := range []string{"@;", " @}", "\n@}", " @x", " @leaf a;", " @on b;", " @event go;", " @chart c { leaf a; }", "@1", "@{ }", " # }\n\n @;", "@,", "@1001", " @enter any x;"} {
 			text, at := reading.Marked(t, s+behind)
@@ -709,8 +553,8 @@ func TestWhatStandsBehind(t *testing.T) {
 		}
 	}
 	// Charts one behind the other, by the same cursor.
-	c := cursor.New(reading.Tokens(t, "chart c { leaf a; } "+door+"chart d { or a; } }"))
-	for _, want := range []api.Chart{{Name: "c", States: []api.State{leaf("a", -1)}}, doorChart(), {Name: "d", States: []api.State{or("a", -1)}}} {
+	c := cursor.New(reading.Tokens(t, "chart c { leaf a; } "+charts.Door+"chart d { or a; } }"))
+	for _, want := range []api.Chart{{Name: "c", States: []api.State{leaf("a", -1)}}, charts.DoorChart(), {Name: "d", States: []api.State{or("a", -1)}}} {
 		if got := syntax.Read(c); !same(got, want) {
 			t.Errorf("Read: %v, not %v", got, want)
 		}
@@ -741,12 +585,12 @@ func TestCursors(t *testing.T) {
 	checkFault(t, nil, api.Pos{}, api.ErrText)
 	checkFault(t, []api.Token{{Kind: api.TokEnd, At: api.Pos{Line: 3, Col: 4}}}, api.Pos{Line: 3, Col: 4}, api.ErrText)
 	// Behind the last token stands an end of its place, of a list without one too.
-	whole := reading.Tokens(t, door)
+	whole := reading.Tokens(t, charts.Door)
 	whole = whole[:len(whole)-1]
 	for size := 1; size < len(whole); size++ {
 		checkFault(t, whole[:size], whole[size-1].At, api.ErrText)
 	}
-	checkRead(t, whole, doorChart(), api.Token{At: whole[len(whole)-1].At})
+	checkRead(t, whole, charts.DoorChart(), api.Token{At: whole[len(whole)-1].At})
 	for _, c := range []*cursor.Cursor{nil, {}} {
 		if got := syntax.Read(c); !zero(got) {
 			t.Errorf("Read of nobody's: %v", got)
@@ -767,8 +611,8 @@ func TestEmpty(t *testing.T) {
 // someTexts are the texts of some charts, one in each state's every combination, and the document's.
 func someTexts(t *testing.T) []string {
 	t.Helper()
-	all := []string{door}
-	for at, c := range combinations(t) {
+	all := []string{charts.Door}
+	for at, c := range charts.Combinations(t) {
 		if at%41 == 0 {
 			all = append(all, written(t, c, at%2 == 0))
 		}

@@ -1,4 +1,4 @@
-// Package charts is for the tests of the layers that have to do with charts: it puts charts together, and holds them against each other.
+// Package charts is for the tests of the layers that have to do with charts: it puts charts together, writes them, and holds them against each other.
 package charts
 
 import (
@@ -13,6 +13,21 @@ import (
 
 // Door is the text of the document's chart.
 const Door = "chart door { event go; var n 0 .. 1 = 0; or house { leaf shut { on go -> open; } leaf open { on go [n < 1] / n := n + 1 -> shut; } } }"
+
+// DoorForm is the text that the document's chart is told by.
+const DoorForm = `chart door {
+  event go;
+  var n 0 .. 1 = 0;
+  or house {
+    leaf shut {
+      on go -> open;
+    }
+    leaf open {
+      on go [n < 1] / n := n + 1 -> shut;
+    }
+  }
+}
+`
 
 // DoorChart is the document's chart, put together by hand.
 func DoorChart() api.Chart {
@@ -77,19 +92,14 @@ func Having(t reading.Test, s api.State, enter, exit, own string) api.State {
 	return s
 }
 
-// SameState tells whether states are the same; no list is the same as an empty one.
-func SameState(a, b api.State) bool {
-	return a.Name == b.Name && a.Kind == b.Kind && a.Parent == b.Parent && sameActs(a.Enter, b.Enter) && sameActs(a.Exit, b.Exit) && slices.EqualFunc(a.Trans, b.Trans, trans.Same)
-}
-
-// Same tells whether charts are the same; no list is the same as an empty one.
-func Same(a, b api.Chart) bool {
-	return a.Name == b.Name && slices.Equal(a.Events, b.Events) && slices.Equal(a.Vars, b.Vars) && slices.EqualFunc(a.States, b.States, SameState)
-}
-
-// sameActs tells whether acts are the same.
-func sameActs(a, b []api.Act) bool {
-	return trans.Same(api.Trans{Acts: a}, api.Trans{Acts: b})
+// Rich is a chart in which each thing stands that a chart may have, in a state further out and in one further in; it shares memory with no other one.
+func Rich(t reading.Test) api.Chart {
+	t.Helper()
+	acts := "any x, x := y + min(1, x), any y"
+	own := "auto; on a [x < 1 and in(a)] / " + acts + " -> b; on b -> a;"
+	c := api.Chart{Name: "c", Events: []string{"a", "b"}, Vars: []api.Var{{Name: "x"}, {Name: "y"}}}
+	c.States = []api.State{Having(t, Or("a", -1), acts, acts, own), Leaf("b", 0), Having(t, And("d", 0), acts, acts, own), Leaf("e", 2)}
+	return c
 }
 
 // Belows are lists of states to stand below another one, of which some stand within others: their Parents are places in the list; -1 is around.

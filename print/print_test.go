@@ -12,11 +12,13 @@ import (
 	"semblance/print"
 	"semblance/reading"
 	"semblance/syntax"
-	"semblance/trans"
 )
 
 // What the tests of charts have in common, by short names.
-var leaf, or, and, having = charts.Leaf, charts.Or, charts.And, charts.Having
+var (
+	leaf, or, and, having = charts.Leaf, charts.Or, charts.And, charts.Having
+	rich, wide, long      = charts.Rich, charts.Wide, charts.Long
+)
 
 // checkPut: a chart may be told, and has that text, which is read as the same chart.
 func checkPut(t *testing.T, c api.Chart, want string) {
@@ -56,19 +58,7 @@ func checkLong(t *testing.T, c api.Chart) {
 }
 
 // door is the text of the document's chart.
-const door = `chart door {
-  event go;
-  var n 0 .. 1 = 0;
-  or house {
-    leaf shut {
-      on go -> open;
-    }
-    leaf open {
-      on go [n < 1] / n := n + 1 -> shut;
-    }
-  }
-}
-`
+const door = charts.DoorForm
 
 // Pt1, Pt2: the chapter's example, and the document's chart, whose text has 12 lines.
 func TestExample(t *testing.T) {
@@ -146,16 +136,6 @@ func TestStates(t *testing.T) {
 		checkPut(t, api.Chart{Name: "c", States: c.states}, "chart c {\n"+c.want+"}\n")
 		checkPut(t, api.Chart{Name: "c", Events: []string{"e"}, Vars: []api.Var{{Name: "v"}}, States: c.states}, "chart c {\n  event e;\n  var v 0 .. 0 = 0;\n"+c.want+"}\n")
 	}
-}
-
-// rich is a chart in which each thing stands that a chart may have, in a state further out and in one further in; it shares memory with no other one.
-func rich(t *testing.T) api.Chart {
-	t.Helper()
-	acts := "any x, x := y + min(1, x), any y"
-	own := "auto; on a [x < 1 and in(a)] / " + acts + " -> b; on b -> a;"
-	c := api.Chart{Name: "c", Events: []string{"a", "b"}, Vars: []api.Var{{Name: "x"}, {Name: "y"}}}
-	c.States = []api.State{having(t, or("a", -1), acts, acts, own), leaf("b", 0), having(t, and("d", 0), acts, acts, own), leaf("e", 2)}
-	return c
 }
 
 // actLists are all lists of acts of a chart, where they may be written to.
@@ -291,7 +271,7 @@ func TestLimits(t *testing.T) {
 }
 
 // variable is an expression: a variable.
-func variable() []api.Term { return []api.Term{{Op: api.TmVar, Name: "x"}} }
+func variable() []api.Term { return wide(1) }
 
 // least is the least of so many of a variable, two by two, as deep as they are many.
 func least(many int) []api.Term {
@@ -301,14 +281,6 @@ func least(many int) []api.Term {
 // minus is so many minus signs, and an expression behind them.
 func minus(many int, l []api.Term) []api.Term {
 	return append(slices.Repeat([]api.Term{{Op: api.TmNeg}}, many), l...)
-}
-
-// wide is the sum of so many of a variable, no deeper than it must be.
-func wide(many int) []api.Term {
-	if many == 1 {
-		return variable()
-	}
-	return slices.Concat([]api.Term{{Op: api.TmAdd}}, wide(many/2), wide(many-many/2))
 }
 
 // badExprs are terms that are no expressions that may be, by each of layer 5's errors; none are none of them.
@@ -395,43 +367,6 @@ func TestNoStates(t *testing.T) {
 	}
 }
 
-// tokens is how many tokens a text has, layer 3's limit aside.
-func tokens(t *testing.T, s string) int {
-	t.Helper()
-	many := 0
-	for line := range strings.Lines(s) {
-		many += len(reading.Tokens(t, line)) - 1
-	}
-	return many
-}
-
-// long is a chart whose text has so many tokens: leaves with long transitions, and what is left to make up in short ones further out.
-func long(t *testing.T, many int) api.Chart {
-	t.Helper()
-	c := api.Chart{Name: "c", States: []api.State{or("top", -1)}}
-	one := api.Trans{Guard: wide(20)}
-	text, _ := trans.Put(one)
-	size := tokens(t, text)
-	last := 0
-	for many -= 8; many >= size+6; many -= size {
-		if last == 0 || len(c.States[last].Trans) == 16 {
-			c.States = append(c.States, leaf("a", 0))
-			last, many = last+1, many-4
-		}
-		c.States[last].Trans = append(c.States[last].Trans, one)
-	}
-	short := charts.Transitions(t, "auto; on a; auto -> b; on a -> b;")
-	for many > 0 {
-		size := min(many, 5)
-		if many == 6 {
-			size = 4
-		}
-		c.States[0].Trans = append(c.States[0].Trans, short[size-2])
-		many -= size
-	}
-	return c
-}
-
 // longer is a chart, with so many bytes more in its names.
 func longer(c api.Chart, many int) api.Chart {
 	c = charts.Roomy(c)
@@ -447,7 +382,7 @@ func longer(c api.Chart, many int) api.Chart {
 func TestTokens(t *testing.T) {
 	for many := 3970; many <= 4030; many++ {
 		c := long(t, many)
-		if got := tokens(t, told(c)); got != many {
+		if got := reading.Count(t, told(c)); got != many {
 			t.Fatalf("the test's own text has %d tokens, not %d", got, many)
 		}
 		if many <= 4000 {
@@ -458,26 +393,12 @@ func TestTokens(t *testing.T) {
 	}
 }
 
-// longest is a chart whose text has so many bytes that no shorter one has as many tokens: all stands deep, and names are as long as may be.
-func longest() api.Chart {
-	name := "abcdefghijkl"
-	own := slices.Repeat([]api.Trans{{Event: name}}, 16)
-	acts := slices.Repeat([]api.Act{{Name: name, Any: true}}, 2)
-	c := api.Chart{Name: name, States: charts.Nested([]int{1, 2, 3, 4, 5, 6, 7, 8, 9, 10, 11})}
-	c.States = append(c.States, slices.Repeat([]api.State{leaf(name, 10)}, 49)...)
-	for at := range c.States {
-		s := &c.States[at]
-		s.Name, s.Enter, s.Exit, s.Trans = name, acts, acts, own
-	}
-	return c
-}
-
 // Pt1, Pt2: a text of as many bytes as may be, and of more: such texts have too many tokens too.
 func TestBytes(t *testing.T) {
 	// One with few tokens for all its bytes.
-	c := longest()
-	if s := told(c); len(s) < 50000 || tokens(t, s) > 4000 {
-		t.Errorf("the test's own text has %d bytes, and %d tokens", len(s), tokens(t, s))
+	c := charts.Longest()
+	if s := told(c); len(s) < 50000 || reading.Count(t, s) > 4000 {
+		t.Errorf("the test's own text has %d bytes, and %d tokens", len(s), reading.Count(t, s))
 	}
 	checkTold(t, c)
 	// One that is as long as may be.
@@ -586,7 +507,7 @@ func TestGreat(t *testing.T) {
 
 // Pt1: each piece stands on a line of its own, ended by a line feed, two blanks ahead for each brace that is open.
 func TestLines(t *testing.T) {
-	all := append(charts.Combinations(t), charts.DoorChart(), rich(t), longest())
+	all := append(charts.Combinations(t), charts.DoorChart(), rich(t), charts.Longest())
 	for seed := range 300 {
 		all = append(all, charts.Some(seed))
 	}

@@ -49,6 +49,51 @@ func Whole[T any](t Test, s string, read func(c *cursor.Cursor) T) T {
 	return got
 }
 
+// Count is how many tokens a text has, line by line, so that there may be more than layer 3 lets stand in one text.
+func Count(t Test, s string) int {
+	t.Helper()
+	many := 0
+	for line := range strings.Lines(s) {
+		many += len(Tokens(t, line)) - 1
+	}
+	return many
+}
+
+// Between tells what stands between tokens, by the place of the one behind, and both texts.
+type Between func(at int, left, right string) string
+
+// Apart is the text of tokens, with what is told between them.
+func Apart(l []api.Token, between Between) string {
+	var s strings.Builder
+	for at, one := range l {
+		if at > 0 {
+			s.WriteString(between(at, l[at-1].Text, one.Text))
+		}
+		s.WriteString(one.Text)
+	}
+	return s.String()
+}
+
+// Ways are those in which tokens may be set apart: by blanks, line feeds, remarks, as little as may be, and by each of them in turn.
+func Ways() []Between {
+	always := func(text string) Between { return func(int, string, string) string { return text } }
+	return []Between{
+		always(" "), always("\n"), always("\t \r\n"), Bare, always(" # } ; $ chart \xff\n"),
+		func(at int, left, right string) string {
+			return [5]string{Bare(at, left, right), " ", "\n\n", "\r", "# x\n"}[at*at%5]
+		},
+	}
+}
+
+// Bare is nothing, or a blank where both would be another token, or other ones, without one.
+func Bare(_ int, left, right string) string {
+	l, _, e := scan.Tokens(left + right)
+	if right == "" || e == api.OK && len(l) == 3 && l[0].Text == left && l[1].Text == right {
+		return ""
+	}
+	return " "
+}
+
 // Check holds what Read of tokens is against what it must be; then a token must be next, and there must be no fault.
 func Check[T any](t Test, l []api.Token, read func(c *cursor.Cursor) T, same func(a, b T) bool, want T, next api.Token) {
 	t.Helper()

@@ -6,7 +6,6 @@ import (
 	"strings"
 	"testing"
 
-	"semblance/act"
 	"semblance/api"
 	"semblance/charts"
 	"semblance/cursor"
@@ -14,7 +13,6 @@ import (
 	"semblance/scan"
 	"semblance/shape"
 	"semblance/syntax"
-	"semblance/trans"
 )
 
 // keywords are all of them, by the document's words.
@@ -67,55 +65,6 @@ func checkFaultAt(t *testing.T, s string, fault api.Errno) {
 	text, at := reading.Marked(t, s)
 	checkNone(t, text, at, fault)
 	checkFault(t, reading.Tokens(t, text), at, fault)
-}
-
-// written is a chart's text, by the chapter's grammar, with blanks between all tokens; a state with nothing within has braces, or a semicolon.
-func written(t *testing.T, c api.Chart, braces bool) string {
-	t.Helper()
-	s := "chart " + c.Name + " { "
-	if len(c.Events) > 0 {
-		s += "event " + strings.Join(c.Events, " , ") + " ; "
-	}
-	for _, v := range c.Vars {
-		s += "var " + v.Name + " " + strconv.Itoa(v.Lo) + " .. " + strconv.Itoa(v.Hi) + " = " + strconv.Itoa(v.Init) + " ; "
-	}
-	for at, one := range c.States {
-		if one.Parent == -1 {
-			s += writtenState(t, c, at, braces)
-		}
-	}
-	l := reading.Tokens(t, s+"}")
-	return scan.Text(l)
-}
-
-// writtenState is the text of the state at a place, and of those within it.
-func writtenState(t *testing.T, c api.Chart, at int, braces bool) string {
-	t.Helper()
-	one := c.States[at]
-	s := []string{1: "leaf ", 2: "or ", 3: "and "}[one.Kind] + one.Name
-	within := ""
-	if text, _ := act.Put(one.Enter); text != "" {
-		within += "enter " + text + "; "
-	}
-	if text, _ := act.Put(one.Exit); text != "" {
-		within += "exit " + text + "; "
-	}
-	for _, tr := range one.Trans {
-		text, e := trans.Put(tr)
-		if e != api.OK {
-			t.Fatalf("the test's own transition %v has error %d", tr, e)
-		}
-		within += text + " "
-	}
-	for below, other := range c.States {
-		if other.Parent == at {
-			within += writtenState(t, c, below, braces)
-		}
-	}
-	if within == "" && !braces {
-		return s + "; "
-	}
-	return s + " { " + within + "} "
 }
 
 // Sy1, Sy2: the chapter's example, and the document's chart: whole, without its last brace, and with an event told twice.
@@ -205,8 +154,8 @@ func TestStates(t *testing.T) {
 func TestCombinations(t *testing.T) {
 	all := charts.Combinations(t)
 	for _, c := range all {
-		for _, braces := range []bool{false, true} {
-			s := written(t, c, braces)
+		for _, style := range charts.Styles() {
+			s := charts.Written(c, style)
 			checkParse(t, s, c)
 			// What stands behind the chart is left.
 			l := reading.Tokens(t, s+" }")
@@ -232,7 +181,7 @@ func TestShapes(t *testing.T) {
 					continue
 				}
 				c := api.Chart{Name: "c", States: states}
-				if got, at, e := syntax.Parse(written(t, c, kinds%3 == 0)); !same(got, c) || at != (api.Pos{}) || e != api.OK {
+				if got, at, e := syntax.Parse(charts.Written(c, charts.Style{Braces: kinds%3 == 0})); !same(got, c) || at != (api.Pos{}) || e != api.OK {
 					t.Errorf("Parse of %v: %v, %v, error %d", states, got, at, e)
 				}
 				asked++
@@ -614,54 +563,20 @@ func someTexts(t *testing.T) []string {
 	all := []string{charts.Door}
 	for at, c := range charts.Combinations(t) {
 		if at%41 == 0 {
-			all = append(all, written(t, c, at%2 == 0))
+			all = append(all, charts.Written(c, charts.Style{Braces: at%2 == 0}))
 		}
 	}
 	return all
 }
 
-// apart is a text's tokens, with what tells of each one's place, and of both beside it, between them.
-func apart(l []api.Token, between func(at int, left, right string) string) string {
-	s := ""
-	for at, one := range l {
-		if at > 0 {
-			s += between(at, l[at-1].Text, one.Text)
-		}
-		s += one.Text
-	}
-	return s
-}
-
-// bare is nothing, or a blank where both would be another token, or other ones, without one.
-func bare(left, right string) string {
-	l, _, e := scan.Tokens(left + right)
-	if e == api.OK && len(l) == 3 && l[0].Text == left && l[1].Text == right {
-		return ""
-	}
-	if right == "" {
-		return ""
-	}
-	return " "
-}
-
 // Sy1, Sy2: the same text has the same chart, or the same fault at the same token, however its tokens are set apart.
 func TestSetApart(t *testing.T) {
-	ways := []func(at int, left, right string) string{
-		func(at int, left, right string) string { return " " },
-		func(at int, left, right string) string { return "\n" },
-		func(at int, left, right string) string { return "\t \r\n" },
-		func(at int, left, right string) string { return bare(left, right) },
-		func(at int, left, right string) string { return " # } ; $ chart \xff\n" },
-		func(at int, left, right string) string {
-			return []string{bare(left, right), " ", "\n\n", "\r", "# x\n"}[at*at%5]
-		},
-	}
 	check := func(l []api.Token) {
 		first, place, fault := syntax.Parse(scan.Text(l))
 		tokens := reading.Tokens(t, scan.Text(l))
 		at := slices.IndexFunc(tokens, func(one api.Token) bool { return one.At == place })
-		for _, way := range ways {
-			s := apart(l, way)
+		for _, way := range reading.Ways() {
+			s := reading.Apart(l, way)
 			got, place, e := syntax.Parse(s)
 			other := slices.IndexFunc(reading.Tokens(t, s), func(one api.Token) bool { return one.At == place })
 			if !same(got, first) || e != fault || other != at {

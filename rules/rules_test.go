@@ -3,15 +3,12 @@ package rules_test
 import (
 	"math"
 	"slices"
-	"strconv"
-	"strings"
 	"testing"
 
 	"semblance/api"
 	"semblance/charts"
 	"semblance/print"
 	"semblance/rules"
-	"semblance/syntax"
 )
 
 // flaw is one by its rule, its Item and its Part.
@@ -48,139 +45,86 @@ func check(t *testing.T, c api.Chart, want []api.Flaw) {
 // chartOf is the chart of a text between the braces; it may be told.
 func chartOf(t *testing.T, s string) api.Chart {
 	t.Helper()
-	c, at, e := syntax.Parse("chart c { " + s + " }")
-	if e != api.OK || print.Check(c) != api.OK {
-		t.Fatalf("the test's own text %q: error %d at %v", s, e, at)
+	c := charts.Within(t, s)
+	if print.Check(c) != api.OK {
+		t.Fatalf("the test's own text %q may not be told", s)
 	}
 	return c
 }
 
-// flawsOf are flaws as a text tells them: rule, Item and Part each, with a comma between two.
-func flawsOf(t *testing.T, s string) []api.Flaw {
-	t.Helper()
-	var l []api.Flaw
-	for piece := range strings.SplitSeq(s, ",") {
-		var n [3]int
-		words := strings.Fields(piece)
-		for at, word := range words {
-			n[at%3], _ = strconv.Atoi(word)
-		}
-		switch len(words) {
-		case 0:
-		case 3:
-			l = append(l, flaw(n[0], n[1], n[2]))
-		default:
-			t.Fatalf("the test's own flaws %q", s)
-		}
-	}
-	return l
-}
-
 // table is texts between a chart's braces, and the flaws of each.
-type table []struct{ s, want string }
+type table []struct{ Text, Lines string }
 
 // check holds what is broken of each chart against what it must be.
 func (l table) check(t *testing.T) {
 	t.Helper()
 	for _, c := range l {
-		check(t, chartOf(t, c.s), flawsOf(t, c.want))
+		check(t, chartOf(t, c.Text), charts.FlawsOf(t, c.Lines))
 	}
 }
-
-// sound is a chart in which each thing stands that a chart may have, and no rule is broken.
-const sound = `event a, b; var x 0 .. 63 = 0; var y -1000 .. -937 = -937;
-or a {
-  enter x := 1, y := x; exit y := -x;
-  auto; on a [x < 1 and in(a)] / any x, x := x + min(1, y), any y -> b; on b -> a;
-  leaf b { enter x := 2; exit x := 3; on b [not in(d) or y == x] / y := 0; }
-  and d {
-    enter y := max(x, 1);
-    on a -> d; auto [true] -> f;
-    or e { leaf f { on b -> e; } leaf g; }
-    or h { exit x := x * y; leaf i; }
-  }
-}`
 
 // Ru1: the chapter's example, and charts of which no rule is broken.
 func TestExample(t *testing.T) {
 	check(t, chartOf(t, "or a;"), []api.Flaw{flaw(api.RuleKids, 0, 0)})
 	check(t, charts.DoorChart(), nil)
-	check(t, chartOf(t, sound), nil)
+	check(t, chartOf(t, charts.Sound), nil)
 	table{{"leaf a;", ""}, {"event a; leaf a { on a; }", ""}, {"var a 0 .. 0 = 0; leaf a { enter a := a; }", ""}, {"or a { leaf b; }", ""}, {"and a { leaf b; leaf d; }", ""}}.check(t)
 }
 
 // Ru1: of each rule a chart that breaks just that one once, and one that breaks it several times.
 func TestEachRule(t *testing.T) {
-	table{
-		{"event a, a; leaf b;", "1 1 0"}, {"event a, b, a, c, b, a; leaf d;", "1 2 0, 1 4 0, 1 5 0"},
-		{"var x 0 .. 1 = 0; var x 0 .. 1 = 0; leaf a;", "2 1 0"}, {"var x 0 .. 1 = 0; var x 2 .. 3 = 2; var y 0 .. 0 = 0; var x 0 .. 1 = 0; leaf a;", "2 1 0, 2 3 0"},
-		{"var x 0 .. 1 = 2; leaf a;", "3 0 0"}, {"var x 1 .. 0 = 0; var y 0 .. 1 = 0; var z 0 .. 64 = 0; var n 0 .. 1 = -1; leaf a;", "3 0 0, 3 2 0, 3 3 0"},
-		{"or a { leaf a; }", "4 1 0"}, {"or a { leaf b; or c { leaf b; leaf a; } leaf d; leaf b; }", "4 3 0, 4 4 0, 4 6 0"},
-		{"and a;", "5 0 0"}, {"or a { and b { leaf c; } or d; leaf e; and f; }", "5 1 0, 5 3 0, 5 5 0"},
-		{"leaf a { on b; }", "6 0 0"}, {"event a; or a { on b; auto; on a; on c; leaf b { on a; on d; } leaf c { on e; } }", "6 0 0, 6 0 3, 6 1 1, 6 2 0"},
-		{"leaf a { auto -> b; }", "7 0 0"}, {"or a { auto -> c; auto -> b; auto; leaf b { auto -> a; auto -> a; auto -> d; } leaf e { auto -> f; } }", "7 0 0, 7 1 2, 7 2 0"},
-		{"leaf a { auto [1]; }", "8 0 0"}, {"or a { auto [1]; auto [true]; auto [x < 1]; leaf b { auto; auto [in(c)]; } }", "8 0 0, 8 0 2, 8 1 1"},
-		{"leaf a { auto / any x; }", "9 0 0"}, {"var x 0 .. 1 = 0; or a { auto / x := 1; auto / x := true; auto / x := y; leaf b { auto / any x; auto / any y; } }", "9 0 1, 9 0 2, 9 1 1"},
-		{"leaf a { enter x := 1; }", "10 0 0"}, {"leaf a { exit x := 1; }", "10 0 1"}, {"var x 0 .. 1 = 0; or a { enter any x; exit any x; leaf b { enter x := 1; exit x := true; } leaf c { enter y := 1; exit x := 1; } }", "10 0 0, 10 0 1, 10 1 1, 10 2 0"},
-	}.check(t)
+	table(charts.EachRule()).check(t)
 }
 
 // Ru1: charts of which several rules are broken at once: by each just its own.
 func TestSeveralRules(t *testing.T) {
-	table{
-		{"event a, a; var x 1 .. 0 = 5; var x 0 .. 64 = 65; or b { leaf b; }", "1 1 0, 2 1 0, 3 0 0, 3 1 0, 4 1 0"},
-		{"and a { enter any y; exit any x; on b [1] / x := true -> b; }", "5 0 0, 6 0 0, 7 0 0, 8 0 0, 9 0 0, 10 0 0, 10 0 1"},
-		{"event e, e; var x 1 .. 0 = 0; var x 0 .. 0 = 0; or a { enter y := 1; and a { exit z := 1; auto; on d -> d; leaf b { auto [y]; on e / any y; } } leaf b { on b [in(z)] / x := in(a) -> x; } }",
-			"1 1 0, 2 1 0, 3 0 0, 4 1 0, 4 3 0, 5 1 0, 6 1 1, 6 3 0, 7 1 1, 7 3 0, 8 2 0, 8 3 0, 9 2 1, 9 3 0, 10 0 0, 10 1 1"},
-		// What stands twice is one that there is, and has what a chart has.
-		{"event a, a; var x 0 .. 0 = 0; var x 0 .. 0 = 0; or b { leaf b; leaf b { enter x := x; on a [in(b)] / any x -> b; } }", "1 1 0, 2 1 0, 4 1 0, 4 2 0"},
-	}.check(t)
+	table(charts.SeveralRules()).check(t)
 }
 
 // Ru1: RuleEvent, RuleVar, RuleName: the second one of a name and those behind it; an event, a variable and a state may share one.
 func TestTwins(t *testing.T) {
 	table{
-		{"event a, b; leaf c;", ""}, {"event a, b, a; leaf c;", "1 2 0"}, {"event b, a, a; leaf c;", "1 2 0"}, {"event a, a, b, a; leaf c;", "1 1 0, 1 3 0"}, {"event a, b, a, b; leaf c;", "1 2 0, 1 3 0"}, {"event a, a, a, a, a, a, a, a; leaf c;", "1 1 0, 1 2 0, 1 3 0, 1 4 0, 1 5 0, 1 6 0, 1 7 0"},
+		{"event a, b; leaf c;", ""}, {"event a, b, a; leaf c;", "event 2 0"}, {"event b, a, a; leaf c;", "event 2 0"}, {"event a, a, b, a; leaf c;", "event 1 0, event 3 0"}, {"event a, b, a, b; leaf c;", "event 2 0, event 3 0"}, {"event a, a, a, a, a, a, a, a; leaf c;", "event 1 0, event 2 0, event 3 0, event 4 0, event 5 0, event 6 0, event 7 0"},
 		{"event a, ab, a_, a0, abcdefghijkl, abcdefghijk; leaf c;", ""},
-		{"var a 0 .. 0 = 0; var b 0 .. 0 = 0; leaf c;", ""}, {"var a 0 .. 0 = 0; var b 0 .. 0 = 0; var a 0 .. 0 = 0; leaf c;", "2 2 0"}, {"var a 0 .. 0 = 0; var a 0 .. 0 = 0; var a 0 .. 0 = 0; leaf c;", "2 1 0, 2 2 0"}, {"var a 0 .. 1 = 0; var b 0 .. 0 = 0; var b 1 .. 2 = 1; var a 5 .. 6 = 5; leaf c;", "2 2 0, 2 3 0"},
-		{"or a { leaf b; leaf c; }", ""}, {"or a { leaf b; leaf b; leaf b; }", "4 2 0, 4 3 0"}, {"or a { leaf b; or c { or b { leaf a; } } }", "4 3 0, 4 4 0"}, {"or a { or a { or a { leaf a; } } }", "4 1 0, 4 2 0, 4 3 0"}, {"or c { leaf a; leaf ab; }", ""},
+		{"var a 0 .. 0 = 0; var b 0 .. 0 = 0; leaf c;", ""}, {"var a 0 .. 0 = 0; var b 0 .. 0 = 0; var a 0 .. 0 = 0; leaf c;", "var 2 0"}, {"var a 0 .. 0 = 0; var a 0 .. 0 = 0; var a 0 .. 0 = 0; leaf c;", "var 1 0, var 2 0"}, {"var a 0 .. 1 = 0; var b 0 .. 0 = 0; var b 1 .. 2 = 1; var a 5 .. 6 = 5; leaf c;", "var 2 0, var 3 0"},
+		{"or a { leaf b; leaf c; }", ""}, {"or a { leaf b; leaf b; leaf b; }", "name 2 0, name 3 0"}, {"or a { leaf b; or c { or b { leaf a; } } }", "name 3 0, name 4 0"}, {"or a { or a { or a { leaf a; } } }", "name 1 0, name 2 0, name 3 0"}, {"or c { leaf a; leaf ab; }", ""},
 		// The chart's own name is no one of them.
 		{"event c; var c 0 .. 0 = 0; leaf c;", ""},
 		{"event a, b; var a 0 .. 0 = 0; var b 0 .. 0 = 0; or a { leaf b; }", ""}, {"event a; var a 0 .. 0 = 0; leaf b;", ""}, {"var a 0 .. 0 = 0; leaf a;", ""}, {"event a; leaf a;", ""},
-		{"event a, a; var a 0 .. 0 = 0; leaf a;", "1 1 0"}, {"event a; var a 0 .. 0 = 0; var a 0 .. 0 = 0; leaf a;", "2 1 0"}, {"event a; var a 0 .. 0 = 0; or a { leaf a; }", "4 1 0"},
+		{"event a, a; var a 0 .. 0 = 0; leaf a;", "event 1 0"}, {"event a; var a 0 .. 0 = 0; var a 0 .. 0 = 0; leaf a;", "var 1 0"}, {"event a; var a 0 .. 0 = 0; or a { leaf a; }", "name 1 0"},
 	}.check(t)
 }
 
 // Ru1: RuleRange, at the edges of the range and of the first value, of each variable.
 func TestRange(t *testing.T) {
 	table{
-		{"var x 0 .. 0 = 0; leaf a;", ""}, {"var x 1 .. 0 = 0; leaf a;", "3 0 0"}, {"var x 1 .. 0 = 1; leaf a;", "3 0 0"}, {"var x 1000 .. -1000 = 0; leaf a;", "3 0 0"}, {"var x 5 .. 5 = 5; leaf a;", ""}, {"var x 6 .. 5 = 5; leaf a;", "3 0 0"}, {"var x -5 .. -5 = -5; leaf a;", ""}, {"var x -4 .. -5 = -5; leaf a;", "3 0 0"}, {"var x 0 .. -1 = 0; leaf a;", "3 0 0"},
-		{"var x 0 .. 62 = 0; leaf a;", ""}, {"var x 0 .. 63 = 0; leaf a;", ""}, {"var x 0 .. 64 = 0; leaf a;", "3 0 0"}, {"var x 0 .. 65 = 0; leaf a;", "3 0 0"}, {"var x -31 .. 32 = 0; leaf a;", ""}, {"var x -32 .. 32 = 0; leaf a;", "3 0 0"}, {"var x 937 .. 1000 = 1000; leaf a;", ""}, {"var x 936 .. 1000 = 1000; leaf a;", "3 0 0"}, {"var x -1000 .. -937 = -1000; leaf a;", ""}, {"var x -1000 .. -936 = -1000; leaf a;", "3 0 0"}, {"var x -63 .. 0 = 0; leaf a;", ""}, {"var x -64 .. 0 = 0; leaf a;", "3 0 0"}, {"var x -1000 .. 1000 = 0; leaf a;", "3 0 0"},
-		{"var x 2 .. 4 = 1; leaf a;", "3 0 0"}, {"var x 2 .. 4 = 2; leaf a;", ""}, {"var x 2 .. 4 = 3; leaf a;", ""}, {"var x 2 .. 4 = 4; leaf a;", ""}, {"var x 2 .. 4 = 5; leaf a;", "3 0 0"}, {"var x 0 .. 63 = -1; leaf a;", "3 0 0"}, {"var x 0 .. 63 = 63; leaf a;", ""}, {"var x 0 .. 63 = 64; leaf a;", "3 0 0"}, {"var x -4 .. -2 = 0; leaf a;", "3 0 0"}, {"var x -4 .. -2 = 3; leaf a;", "3 0 0"}, {"var x -4 .. -2 = -3; leaf a;", ""}, {"var x 1 .. 1 = 0; leaf a;", "3 0 0"}, {"var x 1 .. 1 = 2; leaf a;", "3 0 0"},
+		{"var x 0 .. 0 = 0; leaf a;", ""}, {"var x 1 .. 0 = 0; leaf a;", "range 0 0"}, {"var x 1 .. 0 = 1; leaf a;", "range 0 0"}, {"var x 1000 .. -1000 = 0; leaf a;", "range 0 0"}, {"var x 5 .. 5 = 5; leaf a;", ""}, {"var x 6 .. 5 = 5; leaf a;", "range 0 0"}, {"var x -5 .. -5 = -5; leaf a;", ""}, {"var x -4 .. -5 = -5; leaf a;", "range 0 0"}, {"var x 0 .. -1 = 0; leaf a;", "range 0 0"},
+		{"var x 0 .. 62 = 0; leaf a;", ""}, {"var x 0 .. 63 = 0; leaf a;", ""}, {"var x 0 .. 64 = 0; leaf a;", "range 0 0"}, {"var x 0 .. 65 = 0; leaf a;", "range 0 0"}, {"var x -31 .. 32 = 0; leaf a;", ""}, {"var x -32 .. 32 = 0; leaf a;", "range 0 0"}, {"var x 937 .. 1000 = 1000; leaf a;", ""}, {"var x 936 .. 1000 = 1000; leaf a;", "range 0 0"}, {"var x -1000 .. -937 = -1000; leaf a;", ""}, {"var x -1000 .. -936 = -1000; leaf a;", "range 0 0"}, {"var x -63 .. 0 = 0; leaf a;", ""}, {"var x -64 .. 0 = 0; leaf a;", "range 0 0"}, {"var x -1000 .. 1000 = 0; leaf a;", "range 0 0"},
+		{"var x 2 .. 4 = 1; leaf a;", "range 0 0"}, {"var x 2 .. 4 = 2; leaf a;", ""}, {"var x 2 .. 4 = 3; leaf a;", ""}, {"var x 2 .. 4 = 4; leaf a;", ""}, {"var x 2 .. 4 = 5; leaf a;", "range 0 0"}, {"var x 0 .. 63 = -1; leaf a;", "range 0 0"}, {"var x 0 .. 63 = 63; leaf a;", ""}, {"var x 0 .. 63 = 64; leaf a;", "range 0 0"}, {"var x -4 .. -2 = 0; leaf a;", "range 0 0"}, {"var x -4 .. -2 = 3; leaf a;", "range 0 0"}, {"var x -4 .. -2 = -3; leaf a;", ""}, {"var x 1 .. 1 = 0; leaf a;", "range 0 0"}, {"var x 1 .. 1 = 2; leaf a;", "range 0 0"},
 		// All of it at once is one flaw.
-		{"var x 64 .. -1 = 70; leaf a;", "3 0 0"}, {"var x -70 .. 70 = 99; leaf a;", "3 0 0"},
-		{"var x 0 .. 1 = 0; var y 1 .. 0 = 0; leaf a;", "3 1 0"}, {"var x 0 .. 1 = 0; var y 0 .. 1 = 1; var z 0 .. 1 = 1; var n 0 .. 64 = 1; leaf a;", "3 3 0"}, {"var a 1 .. 0 = 0; var b 0 .. 64 = 0; var d 0 .. 1 = 2; var e 0 .. 1 = -1; leaf a;", "3 0 0, 3 1 0, 3 2 0, 3 3 0"},
+		{"var x 64 .. -1 = 70; leaf a;", "range 0 0"}, {"var x -70 .. 70 = 99; leaf a;", "range 0 0"},
+		{"var x 0 .. 1 = 0; var y 1 .. 0 = 0; leaf a;", "range 1 0"}, {"var x 0 .. 1 = 0; var y 0 .. 1 = 1; var z 0 .. 1 = 1; var n 0 .. 64 = 1; leaf a;", "range 3 0"}, {"var a 1 .. 0 = 0; var b 0 .. 64 = 0; var d 0 .. 1 = 2; var e 0 .. 1 = -1; leaf a;", "range 0 0, range 1 0, range 2 0, range 3 0"},
 	}.check(t)
 }
 
 // Ru1: RuleKids, by how many are right below; those further below do not count.
 func TestKids(t *testing.T) {
 	table{
-		{"or a { }", "5 0 0"}, {"or a { leaf b; }", ""}, {"or a { leaf b; leaf d; }", ""}, {"and a { }", "5 0 0"}, {"and a { leaf b; }", "5 0 0"}, {"and a { leaf b; leaf d; }", ""}, {"and a { leaf b; leaf d; leaf e; }", ""}, {"leaf a { }", ""},
-		{"and a { or b { leaf d; } }", "5 0 0"}, {"and a { or b { leaf d; leaf e; leaf f; } }", "5 0 0"}, {"and a { and b { leaf d; leaf e; } }", "5 0 0"}, {"and a { or b { or d { leaf e; } } leaf f; }", ""}, {"or a { or b; }", "5 1 0"}, {"or a { and b; }", "5 1 0"}, {"and a { or b; or d; }", "5 1 0, 5 2 0"}, {"and a { and b { and d; and e; } }", "5 0 0, 5 2 0, 5 3 0"},
-		{"or a { or b; leaf d; }", "5 1 0"}, {"or a { leaf b; or d; }", "5 2 0"}, {"or a { leaf b; and d { leaf e; } leaf f; }", "5 2 0"}, {"or a { or b { or d { or e; } } }", "5 3 0"}, {"and a { leaf b; and d { or e { leaf f; } } }", "5 2 0"}, {"or a { enter x := 1; on b; leaf d; }", "6 0 0, 10 0 0"}, {"or a { on b; on b; }", "5 0 0, 6 0 0, 6 0 1"},
+		{"or a { }", "kids 0 0"}, {"or a { leaf b; }", ""}, {"or a { leaf b; leaf d; }", ""}, {"and a { }", "kids 0 0"}, {"and a { leaf b; }", "kids 0 0"}, {"and a { leaf b; leaf d; }", ""}, {"and a { leaf b; leaf d; leaf e; }", ""}, {"leaf a { }", ""},
+		{"and a { or b { leaf d; } }", "kids 0 0"}, {"and a { or b { leaf d; leaf e; leaf f; } }", "kids 0 0"}, {"and a { and b { leaf d; leaf e; } }", "kids 0 0"}, {"and a { or b { or d { leaf e; } } leaf f; }", ""}, {"or a { or b; }", "kids 1 0"}, {"or a { and b; }", "kids 1 0"}, {"and a { or b; or d; }", "kids 1 0, kids 2 0"}, {"and a { and b { and d; and e; } }", "kids 0 0, kids 2 0, kids 3 0"},
+		{"or a { or b; leaf d; }", "kids 1 0"}, {"or a { leaf b; or d; }", "kids 2 0"}, {"or a { leaf b; and d { leaf e; } leaf f; }", "kids 2 0"}, {"or a { or b { or d { or e; } } }", "kids 3 0"}, {"and a { leaf b; and d { or e { leaf f; } } }", "kids 2 0"}, {"or a { enter x := 1; on b; leaf d; }", "on 0 0, edge 0 0"}, {"or a { on b; on b; }", "kids 0 0, on 0 0, on 0 1"},
 	}.check(t)
 }
 
 // Ru1: RuleOn, by the chart's events alone, and RuleTarget, by its states alone.
 func TestOnAndTarget(t *testing.T) {
 	table{
-		{"event a, b; leaf d { auto; on a; on b; auto; }", ""}, {"event a, b; leaf d { auto; on a; on d; on ab; on b; }", "6 0 2, 6 0 3"}, {"leaf a { on a; }", "6 0 0"}, {"var x 0 .. 1 = 0; leaf a { on x; on a; on c; }", "6 0 0, 6 0 1, 6 0 2"}, {"event a; or b { on a; leaf d { on a; on e; } leaf e { on e; on e; auto; on a; } }", "6 1 1, 6 2 0, 6 2 1"}, {"event abcdefghijkl; leaf a { on abcdefghijkl; on abcdefghijk; }", "6 0 1"},
+		{"event a, b; leaf d { auto; on a; on b; auto; }", ""}, {"event a, b; leaf d { auto; on a; on d; on ab; on b; }", "on 0 2, on 0 3"}, {"leaf a { on a; }", "on 0 0"}, {"var x 0 .. 1 = 0; leaf a { on x; on a; on c; }", "on 0 0, on 0 1, on 0 2"}, {"event a; or b { on a; leaf d { on a; on e; } leaf e { on e; on e; auto; on a; } }", "on 1 1, on 2 0, on 2 1"}, {"event abcdefghijkl; leaf a { on abcdefghijkl; on abcdefghijk; }", "on 0 1"},
 		// Parts from 0 to the last one that may be, of the first and of the last state.
 		{"or a { on b; on b; on b; on b; on b; on b; on b; on b; on b; on b; on b; on b; on b; on b; on b; on b; leaf d { auto; auto; auto; auto; auto; auto; auto; auto; auto; auto; auto; auto; auto; auto; auto; on b; } }",
-			"6 0 0, 6 0 1, 6 0 2, 6 0 3, 6 0 4, 6 0 5, 6 0 6, 6 0 7, 6 0 8, 6 0 9, 6 0 10, 6 0 11, 6 0 12, 6 0 13, 6 0 14, 6 0 15, 6 1 15"},
-		{"or a { auto; auto -> b; auto -> a; auto -> d; leaf b { auto -> b; auto -> a; } }", "7 0 3"}, {"leaf a { auto -> a; }", ""}, {"leaf a { auto -> ab; auto -> a; auto -> c; }", "7 0 0, 7 0 2"}, {"event e; var x 0 .. 1 = 0; or a { on e -> e; on e -> x; leaf b { on e -> a; auto -> x; } leaf d { auto -> e; } }", "7 0 0, 7 0 1, 7 1 1, 7 2 0"}, {"or a { or b { leaf d { auto -> e; } } or e { leaf f { auto -> d; auto -> g; } } }", "7 4 1"},
-		{"event go; leaf a { on go -> go; on a -> a; on b -> b; }", "6 0 1, 6 0 2, 7 0 0, 7 0 2"},
+			"on 0 0, on 0 1, on 0 2, on 0 3, on 0 4, on 0 5, on 0 6, on 0 7, on 0 8, on 0 9, on 0 10, on 0 11, on 0 12, on 0 13, on 0 14, on 0 15, on 1 15"},
+		{"or a { auto; auto -> b; auto -> a; auto -> d; leaf b { auto -> b; auto -> a; } }", "target 0 3"}, {"leaf a { auto -> a; }", ""}, {"leaf a { auto -> ab; auto -> a; auto -> c; }", "target 0 0, target 0 2"}, {"event e; var x 0 .. 1 = 0; or a { on e -> e; on e -> x; leaf b { on e -> a; auto -> x; } leaf d { auto -> e; } }", "target 0 0, target 0 1, target 1 1, target 2 0"}, {"or a { or b { leaf d { auto -> e; } } or e { leaf f { auto -> d; auto -> g; } } }", "target 4 1"},
+		{"event go; leaf a { on go -> go; on a -> a; on b -> b; }", "on 0 1, on 0 2, target 0 0, target 0 2"},
 	}.check(t)
 }
 
@@ -202,8 +146,8 @@ func TestGuard(t *testing.T) {
 		check(t, chartOf(t, ahead+"auto; on e ["+guard+"] -> b; auto; } }"), want)
 	}
 	table{
-		{"leaf a { auto; auto; }", ""}, {"or a { auto [1]; leaf b { auto; auto [x]; auto [x < 1]; } leaf d { auto [true]; auto [in(b)]; auto [in(x)]; } }", "8 0 0, 8 1 1, 8 1 2, 8 2 2"},
-		{"var a 0 .. 1 = 0; leaf a { auto [in(a) and a < 1]; auto [a]; }", "8 0 1"},
+		{"leaf a { auto; auto; }", ""}, {"or a { auto [1]; leaf b { auto; auto [x]; auto [x < 1]; } leaf d { auto [true]; auto [in(b)]; auto [in(x)]; } }", "guard 0 0, guard 1 1, guard 1 2, guard 2 2"},
+		{"var a 0 .. 1 = 0; leaf a { auto [in(a) and a < 1]; auto [a]; }", "guard 0 1"},
 	}.check(t)
 }
 
@@ -234,9 +178,9 @@ func TestActs(t *testing.T) {
 		ask(acts+", any a", false)
 	}
 	table{
-		{"leaf a { auto; auto; }", ""}, {"var x 0 .. 1 = 0; leaf a { auto / any x; auto / any x, any x; auto / any a; auto / any x, any y; auto / any y, any x; }", "9 0 2, 9 0 3, 9 0 4"},
-		{"var x 0 .. 1 = 0; or a { auto / x := y; leaf b { auto / x := 1; } leaf d { auto; auto; auto / any y; auto / y := 1; } }", "9 0 0, 9 2 2, 9 2 3"},
-		{"var x 0 .. 1 = 0; leaf a { auto / x := 1, x := 1, x := 1, x := 1, x := 1, x := 1, x := 1, x := 1; auto / x := 1, x := 1, x := 1, x := 1, x := 1, x := 1, x := 1, x := in(a); }", "9 0 1"},
+		{"leaf a { auto; auto; }", ""}, {"var x 0 .. 1 = 0; leaf a { auto / any x; auto / any x, any x; auto / any a; auto / any x, any y; auto / any y, any x; }", "acts 0 2, acts 0 3, acts 0 4"},
+		{"var x 0 .. 1 = 0; or a { auto / x := y; leaf b { auto / x := 1; } leaf d { auto; auto; auto / any y; auto / y := 1; } }", "acts 0 0, acts 2 2, acts 2 3"},
+		{"var x 0 .. 1 = 0; leaf a { auto / x := 1, x := 1, x := 1, x := 1, x := 1, x := 1, x := 1, x := 1; auto / x := 1, x := 1, x := 1, x := 1, x := 1, x := 1, x := 1, x := in(a); }", "acts 0 1"},
 	}.check(t)
 }
 
@@ -266,9 +210,9 @@ func TestEdge(t *testing.T) {
 	ask("any x", false)
 	ask("any z", false)
 	table{
-		{"var x 0 .. 1 = 0; or a { enter x := 1; exit any x; leaf b { enter any x; exit x := 1; } leaf d { enter any x; exit any x; } leaf e { enter x := 0; exit x := 0; } }", "10 0 1, 10 1 0, 10 2 0, 10 2 1"},
+		{"var x 0 .. 1 = 0; or a { enter x := 1; exit any x; leaf b { enter any x; exit x := 1; } leaf d { enter any x; exit any x; } leaf e { enter x := 0; exit x := 0; } }", "edge 0 1, edge 1 0, edge 2 0, edge 2 1"},
 		// What a transition does is not asked about here, nor the other way round.
-		{"var x 0 .. 1 = 0; leaf a { enter x := 1; auto / any x; auto / any y; }", "9 0 1"}, {"var x 0 .. 1 = 0; leaf a { exit any x; auto / any x; }", "10 0 1"},
+		{"var x 0 .. 1 = 0; leaf a { enter x := 1; auto / any x; auto / any y; }", "acts 0 1"}, {"var x 0 .. 1 = 0; leaf a { exit any x; auto / any x; }", "edge 0 1"},
 	}.check(t)
 }
 

@@ -12,6 +12,30 @@ func Roomy(c api.Chart) api.Chart { return copied(c, true) }
 // Behind is a chart of which each list goes on with what stands in the room behind its end; it shares no memory with it.
 func Behind(c api.Chart) api.Chart { return copied(c, false) }
 
+// Wreck clears all that stands in a chart's lists, and in the room behind them.
+func Wreck(c api.Chart) {
+	for _, s := range c.States {
+		wreckActs(s.Enter)
+		wreckActs(s.Exit)
+		for _, t := range s.Trans {
+			clear(t.Guard[:cap(t.Guard)])
+			wreckActs(t.Acts)
+		}
+		clear(s.Trans[:cap(s.Trans)])
+	}
+	clear(c.Events[:cap(c.Events)])
+	clear(c.Vars[:cap(c.Vars)])
+	clear(c.States[:cap(c.States)])
+}
+
+// wreckActs does that to acts.
+func wreckActs(l []api.Act) {
+	for _, one := range l {
+		clear(one.Expr[:cap(one.Expr)])
+	}
+	clear(l[:cap(l)])
+}
+
 // copied is a copy of a chart, with room behind each list, or with what stands there.
 func copied(c api.Chart, room bool) api.Chart {
 	c.Events = list(c.Events, room, "behind")

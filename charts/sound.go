@@ -97,19 +97,37 @@ func (d *dice) names(many int) []string {
 
 // kind is one that a state may be of, by how many are right below it.
 func (d *dice) kind(l []api.State, at int) int {
-	below := 0
-	for _, s := range l {
-		if s.Parent == at {
-			below++
-		}
-	}
-	switch below {
+	switch kids(l, at) {
 	case 0:
 		return api.KdLeaf
 	case 1:
 		return api.KdOr
 	}
 	return api.KdOr + d.roll(2)
+}
+
+// kids is how many states are right below the one at a place.
+func kids(l []api.State, at int) int {
+	below := 0
+	for _, s := range l {
+		if s.Parent == at {
+			below++
+		}
+	}
+	return below
+}
+
+// Shaped is a chart that breaks no rule, of states alone, by their Parents; which of them are or, and which and, is told by a seed.
+func Shaped(parents []int, seed int) api.Chart {
+	d := &dice{uint64(seed)}
+	c := api.Chart{Name: "c"}
+	for at, parent := range parents {
+		c.States = append(c.States, api.State{Name: "s" + strconv.Itoa(at), Parent: parent})
+	}
+	for at := range c.States {
+		c.States[at].Kind = d.kind(c.States, at)
+	}
+	return c
 }
 
 // fitting rolls what fits a chart; acts may take any value, or not.

@@ -1,7 +1,6 @@
 package atlas_test
 
 import (
-	"math"
 	"slices"
 	"sort"
 	"strconv"
@@ -44,21 +43,6 @@ func another(c api.Chart) tables {
 	return w
 }
 
-// made is a chart's atlas.
-func made(t *testing.T, c api.Chart) *atlas.Atlas {
-	t.Helper()
-	a, e := atlas.New(c)
-	if e != api.OK || a == nil {
-		t.Fatalf("New(%v): %v, error %d", c, a, e)
-	}
-	return a
-}
-
-// none are places that no chart of so many states has.
-func none(many int) []int {
-	return []int{many, many + 1, 64, 65, 99, 128, 1 << 32, 1<<32 + 1, math.MaxInt, -1, -2, -64, -1 << 32, math.MinInt, math.MinInt + 1}
-}
-
 // checkTables holds all that an atlas answers of its states and events against what it must be.
 func checkTables(t *testing.T, a *atlas.Atlas, w tables) {
 	t.Helper()
@@ -76,7 +60,7 @@ func checkTables(t *testing.T, a *atlas.Atlas, w tables) {
 			t.Errorf("Depth(%d): %d, not %d", at, got, w.depth[at])
 		}
 	}
-	checkNoPlaces(t, a, none(len(w.depth)))
+	checkNoPlaces(t, a, charts.NoPlaces(len(w.depth)))
 	if got := a.Events(); !slices.Equal(got, w.events) {
 		t.Errorf("Events: %q, not %q", got, w.events)
 	}
@@ -134,7 +118,7 @@ func strangers(c api.Chart) []string {
 // check holds all that the atlas of a chart answers against what it must be, and asks for all of it twice.
 func check(t *testing.T, c api.Chart, w tables) {
 	t.Helper()
-	a := made(t, c)
+	a := charts.Atlas(t, c)
 	for range 2 {
 		checkChart(t, a, c)
 		checkTables(t, a, w)
@@ -147,7 +131,7 @@ func TestExamples(t *testing.T) {
 	check(t, charts.Within(t, "or a { leaf b; leaf c; }"), w)
 	w.events = []string{"go"}
 	check(t, charts.DoorChart(), w)
-	a := made(t, charts.DoorChart())
+	a := charts.Atlas(t, charts.DoorChart())
 	if a.Below(0) != 7 || a.Above(2) != 1 || a.Place("house") != 0 || a.Place("shut") != 1 || a.Place("open") != 2 || a.Place("go") != -1 || a.Place("n") != -1 || a.Place("door") != -1 {
 		t.Error("the document's chart by hand")
 	}
@@ -167,9 +151,7 @@ func TestByHand(t *testing.T) {
 
 // At1: states as deep as they may be, one within the other, the last one a leaf.
 func TestDeepest(t *testing.T) {
-	c := api.Chart{Name: "c", States: charts.Nested([]int{1, 2, 3, 4, 5, 6, 7, 8, 9, 10, 11, 12})}
-	c.States[11].Kind = api.KdLeaf
-	a := made(t, c)
+	a := charts.Atlas(t, charts.Deepest())
 	for at := range 12 {
 		kids := []int{at + 1}
 		if at == 11 {
@@ -179,19 +161,17 @@ func TestDeepest(t *testing.T) {
 			t.Errorf("of the place %d: %v, %b, %b, %d", at, a.Kids(at), a.Above(at), a.Below(at), a.Depth(at))
 		}
 	}
-	checkNoPlaces(t, a, none(12))
+	checkNoPlaces(t, a, charts.NoPlaces(12))
 }
 
 // At1: as many states as may be, all but the first one right below that.
 func TestMost(t *testing.T) {
-	for _, first := range []api.State{charts.Or("top", -1), charts.And("top", -1)} {
-		c := api.Chart{Name: "c", States: []api.State{first}}
+	for _, kind := range []int{api.KdOr, api.KdAnd} {
+		a := charts.Atlas(t, charts.Most(kind))
 		var kids []int
 		for at := 1; at < 60; at++ {
-			c.States = append(c.States, charts.Leaf("s"+strconv.Itoa(at), 0))
 			kids = append(kids, at)
 		}
-		a := made(t, c)
 		if !slices.Equal(a.Kids(0), kids) || a.Above(0) != 0 || a.Below(0) != 1<<60-1 || a.Depth(0) != 1 || a.Place("top") != 0 {
 			t.Errorf("of the place 0: %v, %b, %b, %d", a.Kids(0), a.Above(0), a.Below(0), a.Depth(0))
 		}
@@ -200,7 +180,7 @@ func TestMost(t *testing.T) {
 				t.Errorf("of the place %d: %v, %b, %b, %d", at, a.Kids(at), a.Above(at), a.Below(at), a.Depth(at))
 			}
 		}
-		checkNoPlaces(t, a, none(60))
+		checkNoPlaces(t, a, charts.NoPlaces(60))
 	}
 }
 
@@ -219,16 +199,16 @@ func TestEvents(t *testing.T) {
 		for _, at := range order {
 			c.Events = append(c.Events, rising[at])
 		}
-		if got := made(t, c).Events(); !slices.Equal(got, want) {
+		if got := charts.Atlas(t, c).Events(); !slices.Equal(got, want) {
 			t.Errorf("Events of %q: %q, not %q", c.Events, got, want)
 		}
-		checkChart(t, made(t, c), c)
+		checkChart(t, charts.Atlas(t, c), c)
 	}
 }
 
 // At1: a name that the chart has elsewhere too is a state's just if a state has it.
 func TestPlace(t *testing.T) {
-	a := made(t, charts.Within(t, "event b, e; var d 0 .. 0 = 0; var v 0 .. 0 = 0; or ab { leaf b; leaf abc; leaf d; leaf a; }"))
+	a := charts.Atlas(t, charts.Within(t, "event b, e; var d 0 .. 0 = 0; var v 0 .. 0 = 0; or ab { leaf b; leaf abc; leaf d; leaf a; }"))
 	for name, want := range map[string]int{"ab": 0, "b": 1, "abc": 2, "d": 3, "a": 4, "e": -1, "v": -1, "c": -1, "": -1, "abcd": -1, "or": -1, "AB": -1} {
 		if got := a.Place(name); got != want {
 			t.Errorf("Place(%q): %d, not %d", name, got, want)
@@ -264,9 +244,7 @@ func TestNotSound(t *testing.T) {
 
 // At1, R1: an Atlas that New did not give answers nothing.
 func TestNobodys(t *testing.T) {
-	var zero atlas.Atlas
-	other, _ := atlas.New(api.Chart{})
-	for _, a := range []*atlas.Atlas{nil, &zero, new(atlas.Atlas), {}, other} {
+	for _, a := range charts.Nobodys() {
 		for range 2 {
 			if a.Good() || !charts.Same(a.Chart(), api.Chart{}) || len(a.Events()) != 0 {
 				t.Errorf("%v, %v, %q", a.Good(), a.Chart(), a.Events())
@@ -276,34 +254,15 @@ func TestNobodys(t *testing.T) {
 					t.Errorf("Place(%q): %d", name, got)
 				}
 			}
-			checkNoPlaces(t, a, append(none(0), 0, 1, 2, 59))
+			checkNoPlaces(t, a, append(charts.NoPlaces(0), 0, 1, 2, 59))
 		}
 	}
-}
-
-// several are sound charts of several kinds: all small shapes, and charts of up to so many states, as deep as may be, with all that a chart may have.
-func several(t *testing.T) []api.Chart {
-	t.Helper()
-	all := []api.Chart{charts.DoorChart(), charts.Within(t, charts.Sound)}
-	for many := 1; many <= 6; many++ {
-		for _, parents := range charts.Shapes(many) {
-			all = append(all, charts.Shaped(parents, many))
-		}
-	}
-	for seed := range 300 {
-		var parents []int
-		for _, s := range charts.Nested(charts.Depths(1+seed%60, seed)) {
-			parents = append(parents, s.Parent)
-		}
-		all = append(all, charts.Good(seed), charts.Shaped(parents, seed))
-	}
-	return all
 }
 
 // At1: as another reading of the words says.
 func TestMany(t *testing.T) {
 	deepest, most := 0, 0
-	for _, c := range several(t) {
+	for _, c := range charts.Several(t) {
 		w := another(c)
 		check(t, c, w)
 		deepest, most = max(deepest, slices.Max(w.depth)), max(most, len(c.States))
@@ -315,8 +274,8 @@ func TestMany(t *testing.T) {
 
 // At2: one is above another one just if that one is below it.
 func TestAboveBelow(t *testing.T) {
-	for _, c := range several(t) {
-		a := made(t, c)
+	for _, c := range charts.Several(t) {
+		a := charts.Atlas(t, c)
 		for i := range c.States {
 			for k := range c.States {
 				above, below := a.Above(k)>>i&1 == 1, a.Below(i)>>k&1 == 1
@@ -385,7 +344,7 @@ func TestOrders(t *testing.T) {
 	c, want := asked(t)
 	all := asks()
 	for _, order := range orders(len(all)) {
-		a := made(t, c)
+		a := charts.Atlas(t, c)
 		for _, at := range slices.Concat(order, order[:2], order) {
 			if got := all[at](a); got != want[at] {
 				t.Fatalf("in the order %v, what is at %d: %q, not %q", order, at, got, want[at])
@@ -399,7 +358,7 @@ func TestAtOnce(t *testing.T) {
 	c, want := asked(t)
 	all := asks()
 	for range 100 {
-		a := made(t, c)
+		a := charts.Atlas(t, c)
 		got := make([][]string, 32)
 		var each sync.WaitGroup
 		for at := range got {
@@ -420,7 +379,7 @@ func TestAtOnce(t *testing.T) {
 
 // At1: tables that were made are not made again.
 func TestOnce(t *testing.T) {
-	a := made(t, charts.Within(t, charts.Sound))
+	a := charts.Atlas(t, charts.Within(t, charts.Sound))
 	if many := testing.AllocsPerRun(10, func() { a.Place("i"); a.Above(7); a.Below(7); a.Depth(7) }); many != 0 {
 		t.Errorf("asked again, memory is taken %f times", many)
 	}
@@ -428,9 +387,9 @@ func TestOnce(t *testing.T) {
 
 // R3: New writes to nothing that it is handed, and an atlas hangs on nothing that becomes of that.
 func TestHandedIn(t *testing.T) {
-	for _, was := range several(t) {
+	for _, was := range charts.Several(t) {
 		c, w := charts.Roomy(was), another(was)
-		a, b := made(t, c), made(t, c)
+		a, b := charts.Atlas(t, c), charts.Atlas(t, c)
 		for range 2 {
 			checkChart(t, a, was)
 			checkTables(t, a, w)
@@ -455,9 +414,9 @@ func TestHandedIn(t *testing.T) {
 
 // R3: what was answered stays as it was, whatever is asked later, and whatever becomes of other answers; so does the atlas.
 func TestAnswered(t *testing.T) {
-	for _, c := range several(t) {
+	for _, c := range charts.Several(t) {
 		w := another(c)
-		a := made(t, c)
+		a := charts.Atlas(t, c)
 		chart, events := a.Chart(), a.Events()
 		var kids [][]int
 		for at := range c.States {
